@@ -704,3 +704,30 @@ func editAny(from *rand.Rand, k kept, key int) (pmap.Map, map[int]int, api.Errno
 	told, why := k.m.Put(key, model[key])
 	return told, model, why
 }
+
+// of all
+
+func TestEachCallEndsIfTheArenaWasChanged(t *testing.T) {
+	a := arena.New(api.MaxCells)
+	m := mapOf(t, a, upTo(40)...)
+	had := a.Len()
+	for _, size := range []int{0, -1, 7, math.MinInt, math.MaxInt} {
+		for _, full := range []int{0, had, had + 1, api.MaxCells} {
+			a.Cut(0)
+			for n := range full {
+				if _, why := a.Put(api.Cell{Left: n, Right: n, Key: n, Val: n, Size: size + n, High: size - n}); why != api.OK {
+					t.Fatalf("a cell by hand: error %d", why)
+				}
+			}
+			m.List()
+			m.Move(arena.New(9))
+			for _, key := range append(far(), 0, 1, 5, had-1, had, had+1, m.Len()) {
+				m.Get(key)
+				m.At(key)
+				m.Rank(key)
+				m.Put(key, 5)
+				m.Del(key)
+			}
+		}
+	}
+}
