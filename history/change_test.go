@@ -8,32 +8,33 @@ import (
 
 	"tenter/api"
 	"tenter/history"
+	"tenter/sample"
 	"tenter/txn"
 )
 
 // The example of the chapter.
 func TestExample(t *testing.T) {
-	h := wantEdit(t, api.History{}, inserting(txOf(t, "1 c w5")), historyOf(t, "1 c w5; 5: 1"), api.OK)
-	h = wantEdit(t, h, inserting(txOf(t, "2 c w5 r5@1.1")), historyOf(t, "1 c w5; 2 c w5 r5@1.1; 5: 1 2"), api.OK)
+	h := wantEdit(t, api.History{}, inserting(sample.Tx("1 c w5")), sample.History("1 c w5; 5: 1"), api.OK)
+	h = wantEdit(t, h, inserting(sample.Tx("2 c w5 r5@1.1")), sample.History("1 c w5; 2 c w5 r5@1.1; 5: 1 2"), api.OK)
 	wantWhy(t, h, deleting(1), api.ErrUsed)
-	h = wantEdit(t, h, amending(txOf(t, "1 a w5")), historyOf(t, "1 a w5; 2 c w5 r5@1.1; 5: 2"), api.OK)
-	wantText(t, h, amending(txOf(t, "1 c w5")), "1 c w5; 2 c w5 r5@1.1; 5: 2 1")
+	h = wantEdit(t, h, amending(sample.Tx("1 a w5")), sample.History("1 a w5; 2 c w5 r5@1.1; 5: 2"), api.OK)
+	wantText(t, h, amending(sample.Tx("1 c w5")), "1 c w5; 2 c w5 r5@1.1; 5: 2 1")
 }
 
 // 12.2
 
 func TestOfHistoriesThatAreNotRight(t *testing.T) {
 	for _, text := range []string{"1 c w5", "5:", "2 a; 1 a", "1 a r5@2.1", "1 c w5; 5: 1; 6:", "1 c w5; 5: 1 1", "1 a; 1 a"} {
-		h := historyOf(t, text)
+		h := sample.History(text)
 		for _, e := range []edit{
-			inserting(txOf(t, "9 c w5")), inserting(api.Tx{}), inserting(txOf(t, "1 a")), inserting(txOf(t, "9 a r5@7.1")),
-			deleting(1), deleting(9), amending(txOf(t, "1 a")), amending(api.Tx{}), amending(txOf(t, "9 a")),
+			inserting(sample.Tx("9 c w5")), inserting(api.Tx{}), inserting(sample.Tx("1 a")), inserting(sample.Tx("9 a r5@7.1")),
+			deleting(1), deleting(9), amending(sample.Tx("1 a")), amending(api.Tx{}), amending(sample.Tx("9 a")),
 			reordering(api.Order{Key: 5, Txs: []int{1}}), reordering(api.Order{Key: 9}), moving(5, 1, 0), moving(9, 1, 0), moving(5, 9, -1),
 		} {
 			wantWhy(t, h, e, api.ErrForm)
 		}
 	}
-	wantWhy(t, crowd(api.MaxTxs+1), inserting(txOf(t, "9999 a")), api.ErrForm)
+	wantWhy(t, crowd(api.MaxTxs+1), inserting(sample.Tx("9999 a")), api.ErrForm)
 	wantWhy(t, crowd(api.MaxTxs+1), deleting(1), api.ErrForm)
 }
 
@@ -48,7 +49,7 @@ func TestOfAnyHistoryThatIsNotRight(t *testing.T) {
 // 12.3
 
 func TestInsert(t *testing.T) {
-	h := historyOf(t, "2 c w5 w5; 4 a w6; 6 c w5 w7; 5: 6 2; 7: 6")
+	h := sample.History("2 c w5 w5; 4 a w6; 6 c w5 w7; 5: 6 2; 7: 6")
 	for x, text := range map[string]string{
 		"1 a":                "1 a; 2 c w5 w5; 4 a w6; 6 c w5 w7; 5: 6 2; 7: 6",
 		"3 c":                "2 c w5 w5; 3 c; 4 a w6; 6 c w5 w7; 5: 6 2; 7: 6",
@@ -62,18 +63,18 @@ func TestInsert(t *testing.T) {
 		"3 c w1048575 r5@0":  "2 c w5 w5; 3 c w1048575 r5@0; 4 a w6; 6 c w5 w7; 5: 6 2; 7: 6; 1048575: 3",
 		"5 a r5@2.1 r7@6.1 ": "2 c w5 w5; 4 a w6; 5 a r5@2.1 r7@6.1; 6 c w5 w7; 5: 6 2; 7: 6",
 	} {
-		wantText(t, h, inserting(txOf(t, x)), text)
+		wantText(t, h, inserting(sample.Tx(x)), text)
 	}
 }
 
 func TestInsertOfWrong(t *testing.T) {
-	h := historyOf(t, "2 c w5 w5; 4 a w6; 5: 2")
+	h := sample.History("2 c w5 w5; 4 a w6; 5: 2")
 	for x, why := range map[string]api.Errno{
 		"2 a": api.ErrThere, "4 c w6": api.ErrThere, "2 c w5 w5": api.ErrThere, "2 a r9@9.9": api.ErrThere,
 		"3 a r5@2.3": api.ErrRead, "3 a r6@2.1": api.ErrRead, "3 a r5@4.1": api.ErrRead, "3 a r5@7.1": api.ErrRead, "3 a r5@2.1 r5@2.3": api.ErrRead, "3 a w5 r5@7.1": api.ErrRead,
 		"3 a r5@3.1": api.ErrRead, "2 a r5@2.1": api.ErrRead, "0 a": api.ErrRange, "1048576 a": api.ErrRange,
 	} {
-		wantWhy(t, h, inserting(txOf(t, x)), why)
+		wantWhy(t, h, inserting(sample.Tx(x)), why)
 	}
 	for _, id := range []int{0, -1, -2, math.MinInt, math.MaxInt} {
 		wantWhy(t, h, inserting(api.Tx{Id: id}), api.ErrRange)
@@ -85,21 +86,21 @@ func TestInsertOfWrong(t *testing.T) {
 
 func TestInsertIntoMany(t *testing.T) {
 	h := crowd(api.MaxTxs)
-	wantWhy(t, h, inserting(txOf(t, "5000 c w5")), api.ErrFull)
-	wantWhy(t, h, inserting(txOf(t, "5000 c r5@1.1")), api.ErrRead)
-	wantWhy(t, h, inserting(txOf(t, "4096 c")), api.ErrThere)
-	wantWhy(t, h, inserting(txOf(t, "0 c")), api.ErrRange)
+	wantWhy(t, h, inserting(sample.Tx("5000 c w5")), api.ErrFull)
+	wantWhy(t, h, inserting(sample.Tx("5000 c r5@1.1")), api.ErrRead)
+	wantWhy(t, h, inserting(sample.Tx("4096 c")), api.ErrThere)
+	wantWhy(t, h, inserting(sample.Tx("0 c")), api.ErrRange)
 	h.Txs = h.Txs[1:]
-	want := clone(h)
-	want.Txs = append(want.Txs, txOf(t, "5000 c w5"))
+	want := sample.Copy(h)
+	want.Txs = append(want.Txs, sample.Tx("5000 c w5"))
 	want.Orders = []api.Order{{Key: 5, Txs: []int{5000}}}
-	wantEdit(t, h, inserting(txOf(t, "5000 c w5")), want, api.OK)
+	wantEdit(t, h, inserting(sample.Tx("5000 c w5")), want, api.OK)
 }
 
 // 12.4
 
 func TestDelete(t *testing.T) {
-	h := historyOf(t, "2 c w5 w5 w6; 4 a w6 r5@2.1; 6 c w5 w7 r7@6.1; 5: 6 2; 6: 2; 7: 6")
+	h := sample.History("2 c w5 w5 w6; 4 a w6 r5@2.1; 6 c w5 w7 r7@6.1; 5: 6 2; 6: 2; 7: 6")
 	wantText(t, h, deleting(4), "2 c w5 w5 w6; 6 c w5 w7 r7@6.1; 5: 6 2; 6: 2; 7: 6")
 	wantText(t, h, deleting(6), "2 c w5 w5 w6; 4 a w6 r5@2.1; 5: 2; 6: 2")
 	wantWhy(t, h, deleting(2), api.ErrUsed)
@@ -107,17 +108,17 @@ func TestDelete(t *testing.T) {
 		wantWhy(t, h, deleting(id), api.ErrNone)
 		wantWhy(t, api.History{}, deleting(id), api.ErrNone)
 	}
-	rest := wantEdit(t, h, deleting(4), historyOf(t, "2 c w5 w5 w6; 6 c w5 w7 r7@6.1; 5: 6 2; 6: 2; 7: 6"), api.OK)
-	rest = wantEdit(t, rest, deleting(2), historyOf(t, "6 c w5 w7 r7@6.1; 5: 6; 7: 6"), api.OK)
+	rest := wantEdit(t, h, deleting(4), sample.History("2 c w5 w5 w6; 6 c w5 w7 r7@6.1; 5: 6 2; 6: 2; 7: 6"), api.OK)
+	rest = wantEdit(t, rest, deleting(2), sample.History("6 c w5 w7 r7@6.1; 5: 6; 7: 6"), api.OK)
 	wantEdit(t, rest, deleting(6), api.History{}, api.OK)
-	wantWhy(t, historyOf(t, "1 a w5 r5@2.1; 2 a w5 r5@1.1"), deleting(1), api.ErrUsed)
-	wantText(t, historyOf(t, "1 c w5 r5@0; 2 c r5@0; 5: 1"), deleting(1), "2 c r5@0")
+	wantWhy(t, sample.History("1 a w5 r5@2.1; 2 a w5 r5@1.1"), deleting(1), api.ErrUsed)
+	wantText(t, sample.History("1 c w5 r5@0; 2 c r5@0; 5: 1"), deleting(1), "2 c r5@0")
 }
 
 // 12.5
 
 func TestAmend(t *testing.T) {
-	h := historyOf(t, "2 c w5 w5 w6; 4 a w6 r5@2.1; 6 c w5 w7; 5: 2 6; 6: 2; 7: 6")
+	h := sample.History("2 c w5 w5 w6; 4 a w6 r5@2.1; 6 c w5 w7; 5: 2 6; 6: 2; 7: 6")
 	for x, text := range map[string]string{
 		"2 c w5 w5 w6":            "2 c w5 w5 w6; 4 a w6 r5@2.1; 6 c w5 w7; 5: 2 6; 6: 2; 7: 6",
 		"2 c w5":                  "2 c w5; 4 a w6 r5@2.1; 6 c w5 w7; 5: 2 6; 7: 6",
@@ -129,46 +130,46 @@ func TestAmend(t *testing.T) {
 		"6 a w5 w7":               "2 c w5 w5 w6; 4 a w6 r5@2.1; 6 a w5 w7; 5: 2; 6: 2",
 		"6 c w1 r5@2.2 w7 r1@6.1": "2 c w5 w5 w6; 4 a w6 r5@2.1; 6 c w1 r5@2.2 w7 r1@6.1; 1: 6; 5: 2; 6: 2; 7: 6",
 	} {
-		wantText(t, h, amending(txOf(t, x)), text)
+		wantText(t, h, amending(sample.Tx(x)), text)
 	}
 }
 
 func TestAmendOfWrong(t *testing.T) {
-	h := historyOf(t, "2 c w5 w5 w6; 4 a w6 r5@2.2; 6 c w5; 5: 2 6; 6: 2")
+	h := sample.History("2 c w5 w5 w6; 4 a w6 r5@2.2; 6 c w5; 5: 2 6; 6: 2")
 	for x, why := range map[string]api.Errno{
 		"1 a": api.ErrNone, "3 c w5": api.ErrNone, "7 a r9@9.9": api.ErrNone, "0 a": api.ErrRange,
 		"2 c w5": api.ErrUsed, "2 a": api.ErrUsed, "2 c w6 w6": api.ErrUsed, "2 c w5 r5@6.2": api.ErrRead, "2 c r6@4.1": api.ErrUsed,
 		"6 c w5 r5@7.1": api.ErrRead, "6 c r5@2.3": api.ErrRead, "6 c r5@4.1": api.ErrRead, "6 a r5@6.1": api.ErrRead, "2 a w5 r5@2.2": api.ErrRead,
 	} {
-		wantWhy(t, h, amending(txOf(t, x)), why)
+		wantWhy(t, h, amending(sample.Tx(x)), why)
 	}
 	wantWhy(t, h, amending(api.Tx{Id: 9, Ops: []api.Op{writeOf(0)}}), api.ErrRange)
 	wantWhy(t, h, amending(api.Tx{Id: 9, Ops: make([]api.Op, api.MaxOps+1)}), api.ErrLong)
-	wantWhy(t, api.History{}, amending(txOf(t, "1 a")), api.ErrNone)
-	wantText(t, h, amending(txOf(t, "2 a w5 w5")), "2 a w5 w5; 4 a w6 r5@2.2; 6 c w5; 5: 6")
+	wantWhy(t, api.History{}, amending(sample.Tx("1 a")), api.ErrNone)
+	wantText(t, h, amending(sample.Tx("2 a w5 w5")), "2 a w5 w5; 4 a w6 r5@2.2; 6 c w5; 5: 6")
 }
 
 func TestAmendOfMany(t *testing.T) {
 	h := crowd(api.MaxTxs)
-	want := clone(h)
-	want.Txs[6] = txOf(t, "7 c w5")
+	want := sample.Copy(h)
+	want.Txs[6] = sample.Tx("7 c w5")
 	want.Orders = []api.Order{{Key: 5, Txs: []int{7}}}
-	wantEdit(t, h, amending(txOf(t, "7 c w5")), want, api.OK)
+	wantEdit(t, h, amending(sample.Tx("7 c w5")), want, api.OK)
 }
 
 // 12.6
 
 func TestReorder(t *testing.T) {
 	const txs = "1 c w5 w6; 2 c w5; 3 c w5; 4 a w7; "
-	h := historyOf(t, txs+"5: 2 1 3; 6: 1")
-	wantText(t, h, reordering(orderOf(t, "5: 3 2 1")), txs+"5: 3 2 1; 6: 1")
-	wantText(t, h, reordering(orderOf(t, "5: 2 1 3")), txs+"5: 2 1 3; 6: 1")
-	wantText(t, h, reordering(orderOf(t, "6: 1")), txs+"5: 2 1 3; 6: 1")
+	h := sample.History(txs + "5: 2 1 3; 6: 1")
+	wantText(t, h, reordering(sample.Order("5: 3 2 1")), txs+"5: 3 2 1; 6: 1")
+	wantText(t, h, reordering(sample.Order("5: 2 1 3")), txs+"5: 2 1 3; 6: 1")
+	wantText(t, h, reordering(sample.Order("6: 1")), txs+"5: 2 1 3; 6: 1")
 	for o, why := range map[string]api.Errno{
 		"7: 4": api.ErrNone, "7:": api.ErrNone, "4: 1 2 3": api.ErrNone, "0:": api.ErrNone,
 		"5:": api.ErrOrder, "5: 1": api.ErrOrder, "5: 1 2": api.ErrOrder, "5: 1 2 4": api.ErrOrder, "5: 1 2 2": api.ErrOrder, "5: 1 2 3 3": api.ErrOrder, "5: 1 2 3 4": api.ErrOrder, "6:": api.ErrOrder, "6: 2": api.ErrOrder, "6: 1 1": api.ErrOrder, "5: 0 1 2 3": api.ErrOrder,
 	} {
-		wantWhy(t, h, reordering(orderOf(t, o)), why)
+		wantWhy(t, h, reordering(sample.Order(o)), why)
 	}
 	for _, key := range []int{-5, math.MinInt, math.MaxInt} {
 		wantWhy(t, h, reordering(api.Order{Key: key}), api.ErrNone)
@@ -178,7 +179,7 @@ func TestReorder(t *testing.T) {
 
 func TestMove(t *testing.T) {
 	const txs = "1 c w5 w6; 2 c w5; 3 c w5; 4 a w7; "
-	h := historyOf(t, txs+"5: 2 1 3; 6: 1")
+	h := sample.History(txs + "5: 2 1 3; 6: 1")
 	wantText(t, h, moving(5, 2, 2), txs+"5: 1 3 2; 6: 1")
 	wantText(t, h, moving(5, 3, 0), txs+"5: 3 2 1; 6: 1")
 	wantText(t, h, moving(5, 1, 1), txs+"5: 2 1 3; 6: 1")
@@ -211,39 +212,39 @@ func TestAnyEdit(t *testing.T) {
 func TestAnswersAreNewMemory(t *testing.T) {
 	eachEdit(t, 125, 60, func(h api.History, e edit, from *rand.Rand) {
 		want, why := e.by(h)
-		want = clone(want)
+		want = sample.Copy(want)
 		unchanged(t, h, func() {
 			got, _ := e.do(h)
-			spoil(got)
+			sample.Spoil(got)
 		})
-		old := clone(h)
+		old := sample.Copy(h)
 		got, _ := e.do(old)
-		spoil(old)
+		sample.Spoil(old)
 		if why == api.OK && !sameBy(got, want) {
-			t.Errorf("of %s: %s shares memory with it", textOf(h), e.name)
+			t.Errorf("of %s: %s shares memory with it", sample.Text(h), e.name)
 		}
 	})
 }
 
 func TestWhatIsHandedInIsNotKept(t *testing.T) {
-	h := historyOf(t, "1 c w5; 2 c w5; 5: 1 2")
+	h := sample.History("1 c w5; 2 c w5; 5: 1 2")
 	for _, call := range []func(h api.History, x api.Tx) (api.History, api.Errno){history.Insert, history.Amend} {
-		x := txOf(t, "3 c w5 w6")
+		x := sample.Tx("3 c w5 w6")
 		if _, is := history.Find(h, 3); is {
-			x = txOf(t, "3 c w5 w7")
+			x = sample.Tx("3 c w5 w7")
 		}
 		got, why := call(h, x)
 		x.Ops[1] = writeOf(777)
 		if again, _ := history.Find(got, 3); why != api.OK || slices.Contains(again.Ops, writeOf(777)) {
-			t.Errorf("%s, %d: a transaction that was handed in is kept", textOf(got), why)
+			t.Errorf("%s, %d: a transaction that was handed in is kept", sample.Text(got), why)
 		}
 		h = got
 	}
-	o := orderOf(t, "5: 3 1 2")
+	o := sample.Order("5: 3 1 2")
 	got, why := history.Reorder(h, o)
 	o.Txs[0] = 777
 	if why != api.OK || slices.Contains(history.Order(got, 5), 777) {
-		t.Errorf("%s, %d: an order that was handed in is kept", textOf(got), why)
+		t.Errorf("%s, %d: an order that was handed in is kept", sample.Text(got), why)
 	}
 }
 
@@ -252,7 +253,7 @@ func TestWhatIsHandedInIsNotKept(t *testing.T) {
 func TestRightStaysRight(t *testing.T) {
 	eachEdit(t, 126, 300, func(h api.History, e edit, from *rand.Rand) {
 		if got, why := e.do(h); why == api.OK && (!rightBy(got) || !history.Right(got)) {
-			t.Errorf("of %s: %s: %s is not right", textOf(h), e.name, textOf(got))
+			t.Errorf("of %s: %s: %s is not right", sample.Text(h), e.name, sample.Text(got))
 		}
 	})
 }
@@ -266,14 +267,14 @@ func wantAlone(t *testing.T, a, b api.History, id int) {
 		was, before := history.Find(a, x.Id)
 		is, behind := history.Find(b, x.Id)
 		if x.Id != id && (before != behind || !txn.Same(was, is)) {
-			t.Errorf("from %s to %s: %d is another one", textOf(a), textOf(b), x.Id)
+			t.Errorf("from %s to %s: %d is another one", sample.Text(a), sample.Text(b), x.Id)
 		}
 	}
 	for key := 1; key <= 9; key++ {
 		was, is := history.Order(a, key), history.Order(b, key)
 		other := func(x int) bool { return x == id }
 		if !slices.Equal(slices.DeleteFunc(was, other), slices.DeleteFunc(is, other)) {
-			t.Errorf("from %s to %s: others stand otherwise in the order of %d", textOf(a), textOf(b), key)
+			t.Errorf("from %s to %s: others stand otherwise in the order of %d", sample.Text(a), sample.Text(b), key)
 		}
 	}
 }
@@ -285,9 +286,9 @@ func TestAlone(t *testing.T) {
 			wantAlone(t, h, got, e.id)
 		}
 	})
-	h := historyOf(t, "1 c w5 w6; 2 c w5 w6; 5: 1 2; 6: 2 1")
-	got, why := history.Reorder(h, orderOf(t, "5: 2 1"))
+	h := sample.History("1 c w5 w6; 2 c w5 w6; 5: 1 2; 6: 2 1")
+	got, why := history.Reorder(h, sample.Order("5: 2 1"))
 	if why != api.OK || !slices.Equal(history.Order(got, 6), []int{2, 1}) || !history.Same(api.History{Txs: got.Txs}, api.History{Txs: h.Txs}) {
-		t.Errorf("Reorder of 5 changes others: %s, %d", textOf(got), why)
+		t.Errorf("Reorder of 5 changes others: %s, %d", sample.Text(got), why)
 	}
 }

@@ -3,84 +3,18 @@ package history_test
 import (
 	"math/rand"
 	"slices"
-	"strings"
 	"testing"
 
 	"tenter/api"
 	"tenter/history"
 	"tenter/num"
-	"tenter/op"
+	"tenter/sample"
 	"tenter/txn"
 )
 
 func writeOf(key int) api.Op { return api.Op{Key: key} }
 
 func readOf(key, tx, nth int) api.Op { return api.Op{Read: true, Key: key, Tx: tx, Nth: nth} }
-
-func number(t *testing.T, text string) int {
-	t.Helper()
-	n, why := num.Read(text)
-	if why != api.OK {
-		t.Fatalf("Read of %q: %d", text, why)
-	}
-	return n
-}
-
-// txOf reads a transaction: 3 c w5 r5@3.1.
-func txOf(t *testing.T, text string) api.Tx {
-	t.Helper()
-	words := strings.Fields(text)
-	x := api.Tx{Id: number(t, words[0]), Done: words[1] == "c"}
-	for _, word := range words[2:] {
-		o, why := op.Read(word)
-		if why != api.OK {
-			t.Fatalf("Read of %q: %d", word, why)
-		}
-		x.Ops = append(x.Ops, o)
-	}
-	return x
-}
-
-// orderOf reads an order: 5: 2 1.
-func orderOf(t *testing.T, text string) api.Order {
-	t.Helper()
-	key, ids, _ := strings.Cut(text, ":")
-	o := api.Order{Key: number(t, strings.TrimSpace(key))}
-	for _, id := range strings.Fields(ids) {
-		o.Txs = append(o.Txs, number(t, id))
-	}
-	return o
-}
-
-// historyOf reads transactions and orders with ; between: 1 c w5; 2 a w5 r5@1.1; 5: 1. Nothing is put right.
-func historyOf(t *testing.T, text string) api.History {
-	t.Helper()
-	var h api.History
-	for _, part := range strings.Split(text, ";") {
-		if strings.Contains(part, ":") {
-			h.Orders = append(h.Orders, orderOf(t, part))
-		} else if strings.TrimSpace(part) != "" {
-			h.Txs = append(h.Txs, txOf(t, part))
-		}
-	}
-	return h
-}
-
-// textOf tells a history as historyOf reads it; it is what histories are held against one another by.
-func textOf(h api.History) string {
-	var parts []string
-	for _, x := range h.Txs {
-		parts = append(parts, txn.Text(x))
-	}
-	for _, o := range h.Orders {
-		parts = append(parts, strings.TrimSpace(num.Text(o.Key)+": "+num.Words(o.Txs)))
-	}
-	text := strings.Join(parts, "; ")
-	if len(text) > 300 {
-		return text[:300] + " .."
-	}
-	return text
-}
 
 // sameBy goes through all of two histories.
 func sameBy(a, b api.History) bool {
@@ -95,40 +29,13 @@ func sameBy(a, b api.History) bool {
 	return same
 }
 
-func clone(h api.History) api.History {
-	var c api.History
-	for _, x := range h.Txs {
-		c.Txs = append(c.Txs, api.Tx{Id: x.Id, Done: x.Done, Ops: slices.Clone(x.Ops)})
-	}
-	for _, o := range h.Orders {
-		c.Orders = append(c.Orders, api.Order{Key: o.Key, Txs: slices.Clone(o.Txs)})
-	}
-	return c
-}
-
 // unchanged makes a call, and looks whether it left its history alone.
 func unchanged(t *testing.T, h api.History, call func()) {
 	t.Helper()
-	was := clone(h)
+	was := sample.Copy(h)
 	call()
 	if !sameBy(h, was) {
-		t.Errorf("the history is %s, and was %s", textOf(h), textOf(was))
-	}
-}
-
-// spoil changes all memory of a history.
-func spoil(h api.History) {
-	for i := range h.Txs {
-		for k := range h.Txs[i].Ops {
-			h.Txs[i].Ops[k] = writeOf(777)
-		}
-		h.Txs[i] = api.Tx{Id: 777}
-	}
-	for i := range h.Orders {
-		for k := range h.Orders[i].Txs {
-			h.Orders[i].Txs[k] = 777
-		}
-		h.Orders[i] = api.Order{Key: 777}
+		t.Errorf("the history is %s, and was %s", sample.Text(h), sample.Text(was))
 	}
 }
 
@@ -216,7 +123,7 @@ func dropBy(h api.History, id int) api.History {
 
 // putBy goes through all keys that are at hand.
 func putBy(h api.History, x api.Tx) api.History {
-	h = dropBy(clone(h), x.Id)
+	h = dropBy(sample.Copy(h), x.Id)
 	h.Txs = append(h.Txs, x)
 	slices.SortFunc(h.Txs, func(a, b api.Tx) int { return a.Id - b.Id })
 	var orders []api.Order
@@ -332,7 +239,7 @@ func reorderBy(h api.History, o api.Order) (api.History, api.Errno) {
 	if !slices.Equal(was, is) {
 		return api.History{}, api.ErrOrder
 	}
-	h = clone(h)
+	h = sample.Copy(h)
 	h.Orders[at].Txs = o.Txs
 	return h, api.OK
 }
@@ -345,7 +252,7 @@ func moveBy(h api.History, key, id, place int) (api.History, api.Errno) {
 	if at < 0 {
 		return api.History{}, api.ErrNone
 	}
-	h = clone(h)
+	h = sample.Copy(h)
 	ids := h.Orders[at].Txs
 	was := slices.Index(ids, id)
 	if was < 0 {
@@ -385,7 +292,7 @@ func amending(x api.Tx) edit {
 }
 
 func reordering(o api.Order) edit {
-	return edit{"Reorder to " + textOf(api.History{Orders: []api.Order{o}}), 0,
+	return edit{"Reorder to " + sample.Text(api.History{Orders: []api.Order{o}}), 0,
 		func(h api.History) (api.History, api.Errno) { return history.Reorder(h, o) },
 		func(h api.History) (api.History, api.Errno) { return reorderBy(h, o) }}
 }
@@ -403,7 +310,7 @@ func wantEdit(t *testing.T, h api.History, e edit, want api.History, wantWhy api
 	unchanged(t, h, func() {
 		var why api.Errno
 		if got, why = e.do(h); why != wantWhy || !sameBy(got, want) {
-			t.Errorf("of %s: %s: %s, %d; want %s, %d", textOf(h), e.name, textOf(got), why, textOf(want), wantWhy)
+			t.Errorf("of %s: %s: %s, %d; want %s, %d", sample.Text(h), e.name, sample.Text(got), why, sample.Text(want), wantWhy)
 		}
 	})
 	return got
@@ -416,35 +323,15 @@ func wantWhy(t *testing.T, h api.History, e edit, why api.Errno) {
 
 func wantText(t *testing.T, h api.History, e edit, text string) {
 	t.Helper()
-	wantEdit(t, h, e, historyOf(t, text), api.OK)
-}
-
-// anyTx is a transaction of few ids and keys; some of what it reads is not there.
-func anyTx(from *rand.Rand) api.Tx {
-	x := api.Tx{Id: 1 + from.Intn(6), Done: from.Intn(3) > 0}
-	for range from.Intn(7) {
-		key := 1 + from.Intn(3)
-		switch from.Intn(6) {
-		case 0:
-			x.Ops = append(x.Ops, readOf(key, 0, 0))
-		case 1:
-			x.Ops = append(x.Ops, readOf(key, 1+from.Intn(6), 1+from.Intn(2)))
-		default:
-			x.Ops = append(x.Ops, writeOf(key))
-		}
-	}
-	if from.Intn(40) == 0 {
-		x.Ops = append(x.Ops, writeOf(-1))
-	}
-	return x
+	wantEdit(t, h, e, sample.History(text), api.OK)
 }
 
 func anyEdit(h api.History, from *rand.Rand) edit {
 	switch from.Intn(8) {
 	case 0, 1, 2:
-		return inserting(anyTx(from))
+		return inserting(sample.DrawTx(from.Intn))
 	case 3, 4:
-		return amending(anyTx(from))
+		return amending(sample.DrawTx(from.Intn))
 	case 5:
 		return deleting(from.Intn(8))
 	case 6:
@@ -472,7 +359,7 @@ func eachEdit(t *testing.T, seed int64, rounds int, look func(h api.History, e e
 				return
 			}
 			if next, why := e.by(h); why == api.OK {
-				h = clone(next)
+				h = sample.Copy(next)
 			}
 		}
 	}
@@ -480,7 +367,7 @@ func eachEdit(t *testing.T, seed int64, rounds int, look func(h api.History, e e
 
 // spoilt is a history with one thing that may not be, mostly.
 func spoilt(h api.History, from *rand.Rand) api.History {
-	h = clone(h)
+	h = sample.Copy(h)
 	if len(h.Txs) == 0 || len(h.Orders) == 0 {
 		return api.History{Orders: []api.Order{{Key: 1}}}
 	}
@@ -491,7 +378,7 @@ func spoilt(h api.History, from *rand.Rand) api.History {
 	case 1:
 		x.Done = !x.Done
 	case 2:
-		x.Ops = append(x.Ops, anyTx(from).Ops...)
+		x.Ops = append(x.Ops, sample.DrawTx(from.Intn).Ops...)
 	case 3:
 		x.Ops = x.Ops[:from.Intn(len(x.Ops)+1)]
 	case 4:
@@ -505,7 +392,7 @@ func spoilt(h api.History, from *rand.Rand) api.History {
 	case 8:
 		h.Orders = append(h.Orders, api.Order{Key: 9})
 	default:
-		h.Txs = append(h.Txs, anyTx(from))
+		h.Txs = append(h.Txs, sample.DrawTx(from.Intn))
 	}
 	return h
 }

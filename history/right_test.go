@@ -6,6 +6,7 @@ import (
 
 	"tenter/api"
 	"tenter/history"
+	"tenter/sample"
 	"tenter/txn"
 )
 
@@ -15,7 +16,7 @@ func wantRight(t *testing.T, h api.History, want bool) {
 	t.Helper()
 	unchanged(t, h, func() {
 		if got := history.Right(h); got != want {
-			t.Errorf("Right of %s: %v", textOf(h), got)
+			t.Errorf("Right of %s: %v", sample.Text(h), got)
 		}
 	})
 }
@@ -26,7 +27,7 @@ func TestRight(t *testing.T) {
 		"1 c w5; 2 c w5 r5@1.1; 5: 1 2", "1 c w5; 2 c w5 r5@1.1; 5: 2 1", "1 c w5 r5@2.1; 2 c w5 r5@1.1; 5: 1 2", "1 a w5; 2 c r5@1.1", "1 a w5; 2 c w5; 5: 2",
 		"3 c w5 w6; 7 c w6 w4; 4: 7; 5: 3; 6: 7 3", "1 a w5 w5; 2 a r5@1.2 r5@1.1", "1 a; 5 a; 9 a",
 	} {
-		wantRight(t, historyOf(t, text), true)
+		wantRight(t, sample.History(text), true)
 	}
 }
 
@@ -36,14 +37,14 @@ func TestRightOfWrongTransactions(t *testing.T) {
 		"1 a r5@1.1", "1 a r5@1.1 w5", "1 a w5 r5@1.2",
 		"1 a r5@2.1", "1 a r5@2.1; 2 a", "1 a r5@2.1; 2 a w6", "1 a r5@2.2; 2 a w5", "1 c w5; 2 a r5@1.1 r5@1.2; 5: 1", "1 c w5; 2 a r6@1.1; 5: 1", "1 a w5; 3 a r5@2.1",
 	} {
-		wantRight(t, historyOf(t, text), false)
+		wantRight(t, sample.History(text), false)
 	}
 	for _, x := range []api.Tx{
 		{Id: -1}, {Id: 1, Ops: []api.Op{writeOf(0)}}, {Id: 1, Ops: []api.Op{readOf(5, 2, 0)}}, {Id: 1, Ops: []api.Op{readOf(5, 0, 1)}}, {Id: 1, Ops: []api.Op{{Key: 5, Tx: 2}}},
 		{Id: 1, Ops: make([]api.Op, api.MaxOps+1)},
 	} {
 		wantRight(t, api.History{Txs: []api.Tx{x}}, false)
-		wantRight(t, api.History{Txs: []api.Tx{x, txOf(t, "5 a")}}, false)
+		wantRight(t, api.History{Txs: []api.Tx{x, sample.Tx("5 a")}}, false)
 	}
 }
 
@@ -54,7 +55,7 @@ func TestRightOfWrongOrders(t *testing.T) {
 		"1 c w5; 2 c w5; 5: 1", "1 c w5; 2 c w5; 5: 2", "1 c w5; 2 c w5; 5: 1 1", "1 c w5; 2 c w5; 5: 1 2 1", "1 c w5; 2 c w5; 5: 1 2 3", "1 c w5; 2 a w5; 5: 1 2", "1 c w5; 2 c; 5: 1 2",
 		"1 c w5 w6; 5: 1", "1 c w5 w6; 6: 1", "1 c w5 w6; 6: 1; 5: 1", "1 c w5 w6; 5: 1; 5: 1", "1 c w5 w6; 5: 1; 7: 1",
 	} {
-		wantRight(t, historyOf(t, text), false)
+		wantRight(t, sample.History(text), false)
 	}
 	wantRight(t, api.History{Orders: []api.Order{{Key: -5}}}, false)
 }
@@ -71,7 +72,7 @@ func crowd(size int) api.History {
 func TestRightOfMany(t *testing.T) {
 	wantRight(t, crowd(api.MaxTxs), true)
 	wantRight(t, crowd(api.MaxTxs+1), false)
-	long := historyOf(t, "1 c; 5: 1")
+	long := sample.History("1 c; 5: 1")
 	for range api.MaxOps {
 		long.Txs[0].Ops = append(long.Txs[0].Ops, writeOf(5))
 	}
@@ -83,7 +84,7 @@ func TestRightOfMany(t *testing.T) {
 
 // TestRightOfHeavy needs calls that don't go through a transaction for each read of it.
 func TestRightOfHeavy(t *testing.T) {
-	h := historyOf(t, "1 c; 5: 1")
+	h := sample.History("1 c; 5: 1")
 	for range api.MaxOps {
 		h.Txs[0].Ops = append(h.Txs[0].Ops, writeOf(5))
 	}
@@ -125,7 +126,7 @@ func wantFound(t *testing.T, h api.History, id int) {
 	}
 	unchanged(t, h, func() {
 		if got, is := history.Find(h, id); is != (at >= 0) || !txn.Same(got, want) {
-			t.Errorf("of %s: Find of %d: %v, %v", textOf(h), id, got, is)
+			t.Errorf("of %s: Find of %d: %v, %v", sample.Text(h), id, got, is)
 		}
 	})
 }
@@ -138,7 +139,7 @@ func wantOrder(t *testing.T, h api.History, key int) {
 	}
 	unchanged(t, h, func() {
 		if got := history.Order(h, key); !sameBy(api.History{Orders: []api.Order{{Txs: got}}}, api.History{Orders: []api.Order{{Txs: want}}}) {
-			t.Errorf("of %s: Order of %d: %v", textOf(h), key, got)
+			t.Errorf("of %s: Order of %d: %v", sample.Text(h), key, got)
 		}
 	})
 }
@@ -147,13 +148,13 @@ func wantHas(t *testing.T, h api.History, v api.Version) {
 	t.Helper()
 	unchanged(t, h, func() {
 		if got := history.Has(h, v); got != hasBy(h, v) {
-			t.Errorf("of %s: Has of %v: %v", textOf(h), v, got)
+			t.Errorf("of %s: Has of %v: %v", sample.Text(h), v, got)
 		}
 	})
 }
 
 func TestFindAndOrder(t *testing.T) {
-	h := historyOf(t, "2 c w5 r6@0; 4 a; 9 c w5 w6; 5: 9 2; 6: 9")
+	h := sample.History("2 c w5 r6@0; 4 a; 9 c w5 w6; 5: 9 2; 6: 9")
 	x, is := history.Find(h, 2)
 	if !is || txn.Text(x) != "2 c w5 r6@0" {
 		t.Errorf("Find of 2: %v, %v", x, is)
@@ -175,7 +176,7 @@ func TestFindAndOrder(t *testing.T) {
 }
 
 func TestTheFirstOneCounts(t *testing.T) {
-	h := historyOf(t, "4 c w5; 2 a w6; 4 a w5 w5 w6; 2 c; 7: 1; 6: 2 3; 7: 4; 6:")
+	h := sample.History("4 c w5; 2 a w6; 4 a w5 w5 w6; 2 c; 7: 1; 6: 2 3; 7: 4; 6:")
 	for id := range 6 {
 		wantFound(t, h, id)
 	}
@@ -188,7 +189,7 @@ func TestTheFirstOneCounts(t *testing.T) {
 }
 
 func TestHas(t *testing.T) {
-	h := historyOf(t, "2 c w5 w5 r6@0; 4 a w6 w5; 5: 2")
+	h := sample.History("2 c w5 w5 r6@0; 4 a w6 w5; 5: 2")
 	want := map[api.Version]bool{
 		{Key: 1}: true, {Key: 5}: true, {Key: api.MaxKey}: true, {Key: 0}: false, {Key: -1}: false, {Key: api.MaxKey + 1}: false,
 		{Key: 5, Nth: 1}: false, {Key: 5, Tx: 2}: false, {Key: 5, Nth: -1}: false, {Key: 5, Tx: 2, Nth: -1}: false,
@@ -212,7 +213,7 @@ func TestHas(t *testing.T) {
 
 func TestWeight(t *testing.T) {
 	for text, want := range map[string]int{"": 0, "1 a": 1, "1 c w5 r5@0; 5: 1": 3, "1 c w5; 2 a; 3 c w6 w6 r5@1.1; 5: 1; 6: 3": 7, "2 a w5; 2 a w5 w5; 7: 1 2 3": 5} {
-		h := historyOf(t, text)
+		h := sample.History(text)
 		unchanged(t, h, func() {
 			if got := history.Weight(h); got != want {
 				t.Errorf("Weight of %s: %d", text, got)
@@ -227,7 +228,7 @@ func TestSame(t *testing.T) {
 	}
 	for i, a := range texts {
 		for k, b := range texts {
-			if got := history.Same(historyOf(t, a), historyOf(t, b)); got != (i == k) {
+			if got := history.Same(sample.History(a), sample.History(b)); got != (i == k) {
 				t.Errorf("Same of %q and %q: %v", a, b, got)
 			}
 		}
@@ -246,13 +247,13 @@ func TestLooksAtAny(t *testing.T) {
 			wantHas(t, other, api.Version{Tx: from.Intn(8), Key: i, Nth: from.Intn(4) - 1})
 		}
 		if got := history.Same(h, other); got != sameBy(h, other) {
-			t.Errorf("Same of %s and %s: %v", textOf(h), textOf(other), got)
+			t.Errorf("Same of %s and %s: %v", sample.Text(h), sample.Text(other), got)
 		}
 	})
 }
 
 func TestWhatIsFoundIsNewMemory(t *testing.T) {
-	h := historyOf(t, "1 c w5 w6; 2 c w5; 5: 1 2; 6: 1")
+	h := sample.History("1 c w5 w6; 2 c w5; 5: 1 2; 6: 1")
 	unchanged(t, h, func() {
 		x, _ := history.Find(h, 1)
 		x.Ops[0] = writeOf(777)
