@@ -5,7 +5,6 @@ import (
 	"math"
 	"math/rand"
 	"slices"
-	"strings"
 	"testing"
 
 	"tenter/api"
@@ -15,51 +14,16 @@ import (
 	"tenter/txn"
 )
 
-// deltaOf reads what was, behind -, and what is, behind +, with ; between: -1 c w5; +1 a w5; -5: 1 2; +5: 2. Nothing is put right.
-func deltaOf(text string) api.Delta {
-	var d api.Delta
-	for part := range strings.SplitSeq(text, ";") {
-		part = strings.TrimSpace(part)
-		was, is := strings.CutPrefix(part, "-")
-		h := sample.History(strings.TrimPrefix(was, "+"))
-		if is {
-			d.Was, d.Old = append(d.Was, h.Txs...), append(d.Old, h.Orders...)
-		} else {
-			d.Now, d.New = append(d.Now, h.Txs...), append(d.New, h.Orders...)
-		}
-	}
-	return d
-}
-
-// was tells what was as if it were a history; now what is.
-func was(d api.Delta) api.History { return api.History{Txs: d.Was, Orders: d.Old} }
-
-func now(d api.Delta) api.History { return api.History{Txs: d.Now, Orders: d.New} }
-
-func textOf(d api.Delta) string {
-	return "-{" + sample.Text(was(d)) + "} +{" + sample.Text(now(d)) + "}"
-}
-
-func clone(d api.Delta) api.Delta {
-	w, n := sample.Copy(was(d)), sample.Copy(now(d))
-	return api.Delta{Was: w.Txs, Now: n.Txs, Old: w.Orders, New: n.Orders}
-}
-
-func spoil(d api.Delta) {
-	sample.Spoil(was(d))
-	sample.Spoil(now(d))
-}
-
 // What the chapter says, once more, by going through all there is.
 
 func sameOrder(a, b api.Order) bool { return a.Key == b.Key && slices.Equal(a.Txs, b.Txs) }
 
 func sameBy(a, b api.Delta) bool {
-	return history.Same(was(a), was(b)) && history.Same(now(a), now(b))
+	return history.Same(sample.Was(a), sample.Was(b)) && history.Same(sample.Now(a), sample.Now(b))
 }
 
 func rightBy(d api.Delta) bool {
-	for _, h := range []api.History{was(d), now(d)} {
+	for _, h := range []api.History{sample.Was(d), sample.Now(d)} {
 		for i := 1; i < len(h.Txs); i++ {
 			if h.Txs[i].Id <= h.Txs[i-1].Id {
 				return false
@@ -121,7 +85,7 @@ func applyBy(h api.History, d api.Delta) (api.History, api.Errno) {
 	case !fitsBy(h, d):
 		return api.History{}, api.ErrState
 	}
-	made := withoutBy(h, was(d))
+	made := withoutBy(h, sample.Was(d))
 	made.Txs = append(made.Txs, d.Now...)
 	made.Orders = append(made.Orders, d.New...)
 	slices.SortFunc(made.Txs, func(a, b api.Tx) int { return cmp.Compare(a.Id, b.Id) })
@@ -154,7 +118,7 @@ func joinBy(d, e api.Delta) (api.Delta, api.Errno) {
 		for _, alone := range []func(h api.History) api.History{txsAlone, ordersAlone} {
 			part := func(h api.History) api.History { return ofNumber(alone(h), n) }
 			stands := func(d api.Delta) bool {
-				return !history.Same(part(was(d)), api.History{}) || !history.Same(part(now(d)), api.History{})
+				return !history.Same(part(sample.Was(d)), api.History{}) || !history.Same(part(sample.Now(d)), api.History{})
 			}
 			first, last := d, e
 			switch {
@@ -162,10 +126,10 @@ func joinBy(d, e api.Delta) (api.Delta, api.Errno) {
 				first = e
 			case !stands(e):
 				last = d
-			case !history.Same(part(now(d)), part(was(e))):
+			case !history.Same(part(sample.Now(d)), part(sample.Was(e))):
 				return api.Delta{}, api.ErrState
 			}
-			w, n := part(was(first)), part(now(last))
+			w, n := part(sample.Was(first)), part(sample.Now(last))
 			if !history.Same(w, n) {
 				all.Was, all.Now = append(all.Was, w.Txs...), append(all.Now, n.Txs...)
 				all.Old, all.New = append(all.Old, w.Orders...), append(all.New, n.Orders...)
@@ -177,7 +141,7 @@ func joinBy(d, e api.Delta) (api.Delta, api.Errno) {
 
 func keysBy(d api.Delta) []int {
 	met := map[int]bool{}
-	for _, h := range []api.History{was(d), now(d)} {
+	for _, h := range []api.History{sample.Was(d), sample.Now(d)} {
 		for _, t := range h.Txs {
 			for _, o := range t.Ops {
 				met[o.Key] = true
@@ -202,12 +166,12 @@ func unchanged(t *testing.T, call func(), l ...api.Delta) {
 	t.Helper()
 	var copies []api.Delta
 	for _, d := range l {
-		copies = append(copies, clone(d))
+		copies = append(copies, sample.CopyDelta(d))
 	}
 	call()
 	for i, d := range l {
 		if !sameBy(d, copies[i]) {
-			t.Fatalf("a delta is %s, and was %s", textOf(d), textOf(copies[i]))
+			t.Fatalf("a delta is %s, and was %s", sample.DeltaText(d), sample.DeltaText(copies[i]))
 		}
 	}
 }
@@ -223,7 +187,7 @@ func wantOf(t *testing.T, a, b api.History, want api.Delta, wantWhy api.Errno) a
 	unchanged(t, func() {
 		var why api.Errno
 		if got, why = delta.Of(a, b); why != wantWhy || !sameBy(got, want) {
-			t.Fatalf("Of %s and %s: %s, %d; want %s, %d", sample.Text(a), sample.Text(b), textOf(got), why, textOf(want), wantWhy)
+			t.Fatalf("Of %s and %s: %s, %d; want %s, %d", sample.Text(a), sample.Text(b), sample.DeltaText(got), why, sample.DeltaText(want), wantWhy)
 		}
 	}, asDelta(a, b))
 	return got
@@ -235,7 +199,7 @@ func wantApply(t *testing.T, h api.History, d api.Delta, want api.History, wantW
 	unchanged(t, func() {
 		var why api.Errno
 		if got, why = delta.Apply(h, d); why != wantWhy || !history.Same(got, want) {
-			t.Fatalf("to %s: Apply of %s: %s, %d; want %s, %d", sample.Text(h), textOf(d), sample.Text(got), why, sample.Text(want), wantWhy)
+			t.Fatalf("to %s: Apply of %s: %s, %d; want %s, %d", sample.Text(h), sample.DeltaText(d), sample.Text(got), why, sample.Text(want), wantWhy)
 		}
 	}, asDelta(h, api.History{}), d)
 	return got
@@ -247,7 +211,7 @@ func wantJoin(t *testing.T, d, e, want api.Delta, wantWhy api.Errno) api.Delta {
 	unchanged(t, func() {
 		var why api.Errno
 		if got, why = delta.Join(d, e); why != wantWhy || !sameBy(got, want) {
-			t.Fatalf("Join of %s and %s: %s, %d; want %s, %d", textOf(d), textOf(e), textOf(got), why, textOf(want), wantWhy)
+			t.Fatalf("Join of %s and %s: %s, %d; want %s, %d", sample.DeltaText(d), sample.DeltaText(e), sample.DeltaText(got), why, sample.DeltaText(want), wantWhy)
 		}
 	}, d, e)
 	return got
@@ -258,19 +222,19 @@ func wantLook(t *testing.T, d api.Delta) {
 	t.Helper()
 	unchanged(t, func() {
 		if got := delta.Right(d); got != rightBy(d) {
-			t.Fatalf("Right of %s: %v", textOf(d), got)
+			t.Fatalf("Right of %s: %v", sample.DeltaText(d), got)
 		}
 		if got := delta.Empty(d); got != sameBy(d, api.Delta{}) {
-			t.Fatalf("Empty of %s: %v", textOf(d), got)
+			t.Fatalf("Empty of %s: %v", sample.DeltaText(d), got)
 		}
 		if got := delta.Keys(d); !slices.Equal(got, keysBy(d)) {
-			t.Fatalf("Keys of %s: %v", textOf(d), got)
+			t.Fatalf("Keys of %s: %v", sample.DeltaText(d), got)
 		}
-		if got := delta.Invert(d); !history.Same(was(got), now(d)) || !history.Same(now(got), was(d)) {
-			t.Fatalf("Invert of %s: %s", textOf(d), textOf(got))
+		if got := delta.Invert(d); !history.Same(sample.Was(got), sample.Now(d)) || !history.Same(sample.Now(got), sample.Was(d)) {
+			t.Fatalf("Invert of %s: %s", sample.DeltaText(d), sample.DeltaText(got))
 		}
-		if !delta.Same(d, clone(d)) {
-			t.Fatalf("%s is not the same as itself", textOf(d))
+		if !delta.Same(d, sample.CopyDelta(d)) {
+			t.Fatalf("%s is not the same as itself", sample.DeltaText(d))
 		}
 	}, d)
 }
@@ -295,38 +259,9 @@ func eachStep(t *testing.T, seed int64, rounds int, look func(a, b, c api.Histor
 	}
 }
 
-// spoilt tells a delta with one thing other than it was, mostly one that does not fit any more.
-func spoilt(d api.Delta, from *rand.Rand) api.Delta {
-	d = clone(d)
-	if from.Intn(2) == 0 {
-		d = delta.Invert(d)
-	}
-	switch from.Intn(9) {
-	case 0:
-		d.Was = append(d.Was, sample.DrawTx(from.Intn))
-	case 1:
-		d.Now = append([]api.Tx{sample.DrawTx(from.Intn)}, d.Now...)
-	case 2:
-		d.Now = append(d.Now, api.Tx{Id: 9 + from.Intn(3)})
-	case 3:
-		d.New = append(d.New, api.Order{Key: from.Intn(8), Txs: []int{1 + from.Intn(6)}})
-	case 4:
-		d.Old = append(d.Old, api.Order{Key: from.Intn(8)})
-	case 5:
-		d.Was = d.Was[:max(len(d.Was)-1, 0)]
-	case 6:
-		d.New = d.New[:max(len(d.New)-1, 0)]
-	case 7:
-		d.Old, d.New = d.Old[:max(len(d.Old)-1, 0)], d.New[:max(len(d.New)-1, 0)]
-	default:
-		d.Now, d.Was = d.Now[:max(len(d.Now)-1, 0)], append([]api.Tx{{Id: -from.Intn(2)}}, d.Was...)
-	}
-	return delta.Invert(d)
-}
-
 // The example of the chapter.
 func TestExample(t *testing.T) {
-	d := wantOf(t, api.History{}, sample.History("1 c w5; 5: 1"), deltaOf("+1 c w5; +5: 1"), api.OK)
+	d := wantOf(t, api.History{}, sample.History("1 c w5; 5: 1"), sample.Delta("+1 c w5; +5: 1"), api.OK)
 	if got := delta.Keys(d); !slices.Equal(got, []int{5}) {
 		t.Errorf("Keys: %v", got)
 	}
@@ -338,18 +273,18 @@ func TestRight(t *testing.T) {
 	for _, text := range []string{
 		"", "+1 a", "-1 a", "-1 a; +1 a", "-1 a; -2 a; +1 c w5; +3 a", "-5: 1; +5: 2", "-5:; -6:; +4:; +6: 1 1", "-1048576 a; +0 a; +2000000 a", "-2 a; +1 a; -7: 1; +6: 1", "+1 a r5@1.1",
 	} {
-		if d := deltaOf(text); !delta.Right(d) {
+		if d := sample.Delta(text); !delta.Right(d) {
 			t.Errorf("%q is not right", text)
 		}
-		wantLook(t, deltaOf(text))
+		wantLook(t, sample.Delta(text))
 	}
 	for _, text := range []string{
 		"-1 a; -1 a", "-2 a; -1 a", "+1 a; +1 a", "+2 a; +1 a", "-5: 1; -5: 1", "-5:; -4:", "+5:; +5:", "+5: 1; +4: 1", "-1 a; -3 a; -2 a", "+1 a; +2 a; +2 c", "-3: 1; -4: 1; -4: 2", "+3:; +4:; +2:", "+1 a; +2 a; +1 a",
 	} {
-		if d := deltaOf(text); delta.Right(d) {
+		if d := sample.Delta(text); delta.Right(d) {
 			t.Errorf("%q is right", text)
 		}
-		wantLook(t, deltaOf(text))
+		wantLook(t, sample.Delta(text))
 	}
 	odd := api.Delta{Was: []api.Tx{{Id: math.MinInt}, {Id: 0}, {Id: math.MaxInt}}, New: []api.Order{{Key: math.MinInt}, {Key: -1}, {Key: math.MaxInt}}}
 	wantLook(t, odd)
@@ -360,7 +295,7 @@ func TestRight(t *testing.T) {
 
 func TestEmpty(t *testing.T) {
 	for _, text := range []string{"+1 a", "-1 a", "+0 a", "-0:", "+0:", "+5: 1", "-5: 1"} {
-		if delta.Empty(deltaOf(text)) {
+		if delta.Empty(sample.Delta(text)) {
 			t.Errorf("%q is empty", text)
 		}
 	}
@@ -373,7 +308,7 @@ func TestKeys(t *testing.T) {
 	for text, want := range map[string][]int{
 		"": nil, "-1 a w5 w3 r9@0": {3, 5, 9}, "+1 a w5 r5@2.1 r4@1.1": {4, 5}, "-7: 1; +8: 1": {7, 8}, "-1 c w1; +2 a r2@1.1; -4: 3; +3: 4": {1, 2, 3, 4}, "+2 a; -2 a": nil, "+1 a w5; +1 a w4; -9:; -9: 1": {4, 5, 9},
 	} {
-		if got := delta.Keys(deltaOf(text)); !slices.Equal(got, want) {
+		if got := delta.Keys(sample.Delta(text)); !slices.Equal(got, want) {
 			t.Errorf("Keys of %q: %v", text, got)
 		}
 	}
@@ -387,8 +322,8 @@ func TestInvert(t *testing.T) {
 	for text, want := range map[string]string{
 		"": "", "+1 a": "-1 a", "-1 c w5; +2 a; -5: 1; +6: 2 1": "+1 c w5; -2 a; +5: 1; -6: 2 1", "+2 a; +1 a; +1 c": "-2 a; -1 a; -1 c", "-5:; -5: 1": "+5:; +5: 1",
 	} {
-		if got := delta.Invert(deltaOf(text)); !sameBy(got, deltaOf(want)) {
-			t.Errorf("Invert of %q: %s", text, textOf(got))
+		if got := delta.Invert(sample.Delta(text)); !sameBy(got, sample.Delta(want)) {
+			t.Errorf("Invert of %q: %s", text, sample.DeltaText(got))
 		}
 	}
 }
@@ -400,7 +335,7 @@ func TestSame(t *testing.T) {
 	}
 	for i, a := range texts {
 		for k, b := range texts {
-			if got := delta.Same(deltaOf(a), deltaOf(b)); got != (i == k) {
+			if got := delta.Same(sample.Delta(a), sample.Delta(b)); got != (i == k) {
 				t.Errorf("Same of %q and %q: %v", a, b, got)
 			}
 		}
@@ -426,8 +361,8 @@ func TestOf(t *testing.T) {
 		{"1 c w4 w6; 3 c w4; 9 a; 4: 3 1; 6: 1", "2 a; 3 c w4; 9 c w7; 4: 3; 7: 9", "-1 c w4 w6; -9 a; +2 a; +9 c w7; -4: 3 1; -6: 1; +4: 3; +7: 9"},
 	} {
 		a, b := sample.History(l[0]), sample.History(l[1])
-		wantOf(t, a, b, deltaOf(l[2]), api.OK)
-		wantOf(t, b, a, delta.Invert(deltaOf(l[2])), api.OK)
+		wantOf(t, a, b, sample.Delta(l[2]), api.OK)
+		wantOf(t, b, a, delta.Invert(sample.Delta(l[2])), api.OK)
 	}
 }
 
@@ -464,9 +399,9 @@ func TestApply(t *testing.T) {
 		"-1 c w5; -3 c w5 w6; -4 a r5@1.1; +2 c w5 r5@0; +7 a r5@2.1; -5: 3 1; -6: 3; +5: 2": "2 c w5 r5@0; 7 a r5@2.1; 5: 2",
 		"-1 c w5; +1 c w5 w5 r6@3.1; -4 a r5@1.1; +4 c r5@1.2 r6@3.1; -6: 3; +6: 3":          "1 c w5 w5 r6@3.1; 3 c w5 w6; 4 c r5@1.2 r6@3.1; 5: 3 1; 6: 3",
 	} {
-		wantApply(t, h, deltaOf(text), sample.History(want), api.OK)
+		wantApply(t, h, sample.Delta(text), sample.History(want), api.OK)
 	}
-	wantApply(t, api.History{}, deltaOf("+1 c w5; +5: 1"), sample.History("1 c w5; 5: 1"), api.OK)
+	wantApply(t, api.History{}, sample.Delta("+1 c w5; +5: 1"), sample.History("1 c w5; 5: 1"), api.OK)
 	wantApply(t, api.History{}, api.Delta{}, api.History{}, api.OK)
 }
 
@@ -479,11 +414,11 @@ func TestApplyOfWrong(t *testing.T) {
 		"+0 a": api.ErrOrder, "+1048576 a": api.ErrOrder, "+9 c w5": api.ErrOrder, "+9 c w9": api.ErrOrder, "+9 a r9@9.9": api.ErrOrder, "+9 a r5@2.1": api.ErrOrder, "+7:": api.ErrOrder, "+7: 1": api.ErrOrder, "-6: 3": api.ErrOrder,
 		"-5: 3 1; +5: 3": api.ErrOrder, "-5: 3 1; +5: 3 1 1": api.ErrOrder, "-5: 3 1; +5: 3 4": api.ErrOrder, "-1 c w5; -5: 3 1; +5: 3": api.ErrOrder, "-3 c w5 w6; -5: 3 1; +5: 1": api.ErrOrder, "-1 c w5; +1 a w5": api.ErrOrder, "+0: ; -5: 3 1; +5: 3 1": api.ErrOrder,
 	} {
-		wantApply(t, h, deltaOf(text), api.History{}, why)
+		wantApply(t, h, sample.Delta(text), api.History{}, why)
 	}
 	for _, text := range wrongHistories() {
 		for _, other := range []string{"", "-9 a", "+9 a", "+9 a; +9 a", "+9 c w9"} {
-			wantApply(t, sample.History(text), deltaOf(other), api.History{}, api.ErrForm)
+			wantApply(t, sample.History(text), sample.Delta(other), api.History{}, api.ErrForm)
 		}
 	}
 }
@@ -493,11 +428,11 @@ func TestApplyToMany(t *testing.T) {
 	for i := range api.MaxTxs {
 		h.Txs = append(h.Txs, api.Tx{Id: i + 2})
 	}
-	wantApply(t, h, deltaOf("+1 a"), api.History{}, api.ErrOrder)
-	wantApply(t, h, deltaOf("+5000 a"), api.History{}, api.ErrOrder)
+	wantApply(t, h, sample.Delta("+1 a"), api.History{}, api.ErrOrder)
+	wantApply(t, h, sample.Delta("+5000 a"), api.History{}, api.ErrOrder)
 	want := sample.Copy(h)
 	want.Txs = append([]api.Tx{{Id: 1}}, want.Txs[1:]...)
-	wantApply(t, h, deltaOf("-2 a; +1 a"), want, api.OK)
+	wantApply(t, h, sample.Delta("-2 a; +1 a"), want, api.OK)
 }
 
 // 14.4
@@ -530,7 +465,7 @@ func TestJoin(t *testing.T) {
 		{"+1 c w5; +5: 1", "-5: 1; +2 c w5; +5: 1 2", "+1 c w5; +2 c w5; +5: 1 2"},
 		{"+1 c w5; +5: 1", "-1 c w5; -5: 1", ""},
 	} {
-		wantJoin(t, deltaOf(l[0]), deltaOf(l[1]), deltaOf(l[2]), api.OK)
+		wantJoin(t, sample.Delta(l[0]), sample.Delta(l[1]), sample.Delta(l[2]), api.OK)
 	}
 }
 
@@ -540,12 +475,12 @@ func TestJoinOfWrong(t *testing.T) {
 		{"+5: 1", "+5: 1"}, {"+5: 1", "-5: 2"}, {"-5: 1", "-5: 1"}, {"-5: 1; +5: 2", "-5: 1; +5: 2"}, {"+5:", "+5:"}, {"-5:", "-5:"}, {"+5: 1 2", "-5: 2 1"}, {"+5:", "-5: 1"}, {"-5: 1; +5: 2", "+5: 1"},
 		{"+1 a; +5: 1", "-1 a; -5: 2"}, {"+1 a; +5: 1", "-1 c; -5: 1"}, {"+1 a; +2 a; +3 a", "-1 a; -2 a; -3 c"}, {"+1 a", "-1 c; +0 a; +9 a"},
 	} {
-		wantJoin(t, deltaOf(l[0]), deltaOf(l[1]), api.Delta{}, api.ErrState)
+		wantJoin(t, sample.Delta(l[0]), sample.Delta(l[1]), api.Delta{}, api.ErrState)
 	}
 	for _, text := range []string{"+1 a; +1 a", "-2 a; -1 a", "+5:; +4:", "-5:; -5:"} {
 		for _, other := range []string{"", "+1 a", "-1 a", "-5:", "+5:", "+7 a"} {
-			wantJoin(t, deltaOf(text), deltaOf(other), api.Delta{}, api.ErrForm)
-			wantJoin(t, deltaOf(other), deltaOf(text), api.Delta{}, api.ErrForm)
+			wantJoin(t, sample.Delta(text), sample.Delta(other), api.Delta{}, api.ErrForm)
+			wantJoin(t, sample.Delta(other), sample.Delta(text), api.Delta{}, api.ErrForm)
 		}
 	}
 	odd := api.Delta{Now: []api.Tx{{Id: math.MinInt}, {Id: math.MaxInt}}, Old: []api.Order{{Key: math.MinInt}, {Key: math.MaxInt}}}
@@ -561,7 +496,7 @@ func TestOfAny(t *testing.T) {
 		d, _ := ofBy(a, b)
 		e, _ := ofBy(b, c)
 		wantOf(t, a, b, d, api.OK)
-		for _, l := range [][2]api.Delta{{d, e}, {d, spoilt(e, from)}, {spoilt(d, from), e}, {e, d}, {d, d}, {spoilt(d, from), spoilt(e, from)}} {
+		for _, l := range [][2]api.Delta{{d, e}, {d, sample.DrawOther(e, from.Intn)}, {sample.DrawOther(d, from.Intn), e}, {e, d}, {d, d}, {sample.DrawOther(d, from.Intn), sample.DrawOther(e, from.Intn)}} {
 			for _, x := range l {
 				wantLook(t, x)
 				want, why := applyBy(a, x)
@@ -572,7 +507,7 @@ func TestOfAny(t *testing.T) {
 			told[why]++
 			wantJoin(t, l[0], l[1], want, why)
 			if got := delta.Same(l[0], l[1]); got != sameBy(l[0], l[1]) {
-				t.Fatalf("Same of %s and %s: %v", textOf(l[0]), textOf(l[1]), got)
+				t.Fatalf("Same of %s and %s: %v", sample.DeltaText(l[0]), sample.DeltaText(l[1]), got)
 			}
 		}
 	})
@@ -589,12 +524,12 @@ func TestThereAndBack(t *testing.T) {
 	eachStep(t, 142, 60, func(a, _, b api.History, from *rand.Rand) {
 		d, why := delta.Of(a, b)
 		if why != api.OK || !delta.Right(d) {
-			t.Fatalf("Of %s and %s: %s, %d", sample.Text(a), sample.Text(b), textOf(d), why)
+			t.Fatalf("Of %s and %s: %s, %d", sample.Text(a), sample.Text(b), sample.DeltaText(d), why)
 		}
 		wantApply(t, a, d, b, api.OK)
 		wantApply(t, b, delta.Invert(d), a, api.OK)
 		if delta.Empty(d) != history.Same(a, b) {
-			t.Fatalf("Of %s and %s: %s", sample.Text(a), sample.Text(b), textOf(d))
+			t.Fatalf("Of %s and %s: %s", sample.Text(a), sample.Text(b), sample.DeltaText(d))
 		}
 	})
 }
@@ -617,18 +552,18 @@ func TestOneBehindTheOther(t *testing.T) {
 // wantNew looks whether a call, whose answer is told as a delta, shares memory with what it was given.
 func wantNew(t *testing.T, name string, call func(l []api.Delta) api.Delta, l ...api.Delta) {
 	t.Helper()
-	want := clone(call(l))
-	unchanged(t, func() { spoil(call(l)) }, l...)
+	want := sample.CopyDelta(call(l))
+	unchanged(t, func() { sample.SpoilDelta(call(l)) }, l...)
 	var given []api.Delta
 	for _, d := range l {
-		given = append(given, clone(d))
+		given = append(given, sample.CopyDelta(d))
 	}
 	got := call(given)
 	for _, d := range given {
-		spoil(d)
+		sample.SpoilDelta(d)
 	}
 	if !sameBy(got, want) {
-		t.Errorf("%s: what is told shares memory with what was given: %s, and was %s", name, textOf(got), textOf(want))
+		t.Errorf("%s: what is told shares memory with what was given: %s, and was %s", name, sample.DeltaText(got), sample.DeltaText(want))
 	}
 }
 
@@ -637,12 +572,12 @@ func TestAnswersAreNewMemory(t *testing.T) {
 		d, _ := delta.Of(a, b)
 		e, _ := delta.Of(b, c)
 		wantNew(t, "Of", func(l []api.Delta) api.Delta {
-			got, _ := delta.Of(was(l[0]), now(l[0]))
+			got, _ := delta.Of(sample.Was(l[0]), sample.Now(l[0]))
 			return got
 		}, asDelta(a, b))
 		wantNew(t, "Invert", func(l []api.Delta) api.Delta { return delta.Invert(l[0]) }, d)
 		wantNew(t, "Apply", func(l []api.Delta) api.Delta {
-			got, _ := delta.Apply(was(l[0]), l[1])
+			got, _ := delta.Apply(sample.Was(l[0]), l[1])
 			return asDelta(got, api.History{})
 		}, asDelta(a, api.History{}), d)
 		wantNew(t, "Join", func(l []api.Delta) api.Delta {
@@ -654,17 +589,17 @@ func TestAnswersAreNewMemory(t *testing.T) {
 
 // TestSharesNothingWithin changes one list of an answer, and looks at the others.
 func TestSharesNothingWithin(t *testing.T) {
-	d := deltaOf("-1 c w5; +1 c w5; -5: 1; +5: 1")
+	d := sample.Delta("-1 c w5; +1 c w5; -5: 1; +5: 1")
 	x := api.Delta{Was: d.Was, Now: d.Was, Old: d.Old, New: d.Old}
 	got := delta.Invert(x)
-	sample.Spoil(was(got))
-	if sample.Text(now(got)) != "1 c w5; 5: 1" {
-		t.Errorf("lists of one answer share memory: %s", textOf(got))
+	sample.Spoil(sample.Was(got))
+	if sample.Text(sample.Now(got)) != "1 c w5; 5: 1" {
+		t.Errorf("lists of one answer share memory: %s", sample.DeltaText(got))
 	}
 	one := api.Order{Key: 7, Txs: []int{1}}
 	all, why := delta.Join(api.Delta{Old: []api.Order{one}}, api.Delta{New: []api.Order{{Key: 8, Txs: one.Txs}}})
-	sample.Spoil(was(all))
-	if why != api.OK || sample.Text(now(all)) != "8: 1" {
-		t.Errorf("lists of one answer share memory: %s, %d", textOf(all), why)
+	sample.Spoil(sample.Was(all))
+	if why != api.OK || sample.Text(sample.Now(all)) != "8: 1" {
+		t.Errorf("lists of one answer share memory: %s, %d", sample.DeltaText(all), why)
 	}
 }
