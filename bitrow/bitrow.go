@@ -74,21 +74,24 @@ func (r *Row) Count() int {
 }
 
 // Next tells the least place from i on that is set, or -1.
-func (r *Row) Next(i int) int {
+func (r *Row) Next(i int) int { return r.NextBoth(r, i) }
+
+// NextBoth tells the least place from i on that is set in both rows, or -1.
+func (r *Row) NextBoth(o *Row, i int) int {
 	i = max(i, 0)
 	if !r.isPlace(i) {
 		return -1
 	}
-	at := i >> wordShift
-	if w := r.words[at] >> (i & wordMask); w != 0 {
-		return i + bits.TrailingZeros64(w)
-	}
-	for at++; at < len(r.words); at++ {
-		if w := r.words[at]; w != 0 {
-			return at<<wordShift + bits.TrailingZeros64(w)
+	at, below := i>>wordShift, i&wordMask
+	both := (r.words[at] & o.word(at)) >> below << below
+	for both == 0 {
+		at++
+		if at == len(r.words) {
+			return -1
 		}
+		both = r.words[at] & o.word(at)
 	}
-	return -1
+	return at<<wordShift + bits.TrailingZeros64(both)
 }
 
 // Or sets what is set in o, too.

@@ -222,6 +222,29 @@ func TestNextFarOff(t *testing.T) {
 	}
 }
 
+// What is next in both is next in what they have together, whatever their lengths.
+func TestNextBoth(t *testing.T) {
+	from := rand.New(rand.NewSource(4))
+	rows := []*bitrow.Row{nil}
+	for _, n := range lengths() {
+		for _, l := range placesOf(n) {
+			if n <= 200 || from.Intn(4) == 0 {
+				rows = append(rows, bitrow.Of(n, l...))
+			}
+		}
+	}
+	for range 4000 {
+		r, o := rows[from.Intn(len(rows))], rows[from.Intn(len(rows))]
+		both := r.Copy()
+		both.And(o)
+		for _, i := range append(far(), from.Intn(r.Len()+2), from.Intn(r.Len()+2)&^63, from.Intn(r.Len()+2)|63) {
+			if got, want := r.NextBoth(o, i), both.Next(i); got != want {
+				t.Fatalf("of %v and %v: NextBoth(%d) is %d, want %d", r.List(), o.List(), i, got, want)
+			}
+		}
+	}
+}
+
 // 1.3
 
 // putting is a call that puts two rows together, and which places are set then.
