@@ -8,109 +8,56 @@ import (
 
 	"tenter/api"
 	"tenter/closure"
+	"tenter/sample"
 )
 
 // What the chapter says, once more, by going along arcs from each node.
 
-// plain has of each pair of nodes how often there is an arc, and whose rows the last call made other ones.
+// plain has arcs, and whose rows the last call that told OK made other ones.
 type plain struct {
-	nodes  int
-	counts map[[2]int]int
-	last   []int
+	sample.Net
+	last []int
 }
 
-func newPlain(nodes int) *plain { return &plain{nodes: nodes, counts: map[[2]int]int{}} }
-
-func (p *plain) isNode(node int) bool { return node >= 0 && node < p.nodes }
-
-// rows tells of each node whom it reaches.
-func (p *plain) rows() [][]int {
-	next := make([][]int, p.nodes)
-	for arc := range p.counts {
-		next[arc[0]] = append(next[arc[0]], arc[1])
-	}
-	rows := make([][]int, p.nodes)
-	for node := range rows {
-		met := make([]bool, p.nodes)
-		for todo := slices.Clone(next[node]); len(todo) > 0; {
-			to := todo[len(todo)-1]
-			todo = todo[:len(todo)-1]
-			if !met[to] {
-				met[to] = true
-				todo = append(todo, next[to]...)
-			}
-		}
-		for to, is := range met {
-			if is {
-				rows[node] = append(rows[node], to)
-			}
-		}
-	}
-	return rows
-}
+func newPlain(nodes int) *plain { return &plain{Net: sample.NewNet(nodes)} }
 
 // change does what is to be done, and finds out whose rows that makes other ones.
-func (p *plain) change(do func()) {
-	was := p.rows()
-	do()
+func (p *plain) change(u, v int, do func(u, v int) api.Errno) api.Errno {
+	was := p.Rows()
+	why := do(u, v)
+	if why != api.OK {
+		return why
+	}
 	p.last = nil
-	for node, row := range p.rows() {
+	for node, row := range p.Rows() {
 		if !slices.Equal(row, was[node]) {
 			p.last = append(p.last, node)
 		}
 	}
-}
-
-func (p *plain) add(u, v int) api.Errno {
-	if !p.isNode(u) || !p.isNode(v) {
-		return api.ErrRange
-	}
-	p.change(func() { p.counts[[2]int{u, v}]++ })
-	return api.OK
-}
-
-func (p *plain) drop(u, v int) api.Errno {
-	arc := [2]int{u, v}
-	switch {
-	case !p.isNode(u) || !p.isNode(v):
-		return api.ErrRange
-	case p.counts[arc] == 0:
-		return api.ErrNone
-	}
-	p.change(func() {
-		if p.counts[arc]--; p.counts[arc] == 0 {
-			delete(p.counts, arc)
-		}
-	})
-	return api.OK
-}
-
-// oddNodes are no nodes, whatever closure; some would be, if they were cut.
-func oddNodes() []int {
-	return []int{math.MinInt, math.MinInt32, -4096, -1<<32 + 1, -1, 4096, 4097, 65536, math.MaxInt32, 1 << 32, 1<<32 + 1, 1 << 62, math.MaxInt}
+	return why
 }
 
 // want looks by all calls at a closure that is meant to be like that.
 func want(t *testing.T, c *closure.Closure, p *plain) {
 	t.Helper()
-	if c.Nodes() != p.nodes {
-		t.Fatalf("Nodes: %d, want %d", c.Nodes(), p.nodes)
+	if c.Nodes() != p.Nodes {
+		t.Fatalf("Nodes: %d, want %d", c.Nodes(), p.Nodes)
 	}
-	for u, row := range p.rows() {
+	for u, row := range p.Rows() {
 		if got := c.Row(u); !slices.Equal(got, row) {
-			t.Fatalf("of %v: Row of %d: %v, want %v", p.counts, u, got, row)
+			t.Fatalf("of %v: Row of %d: %v, want %v", p.Counts, u, got, row)
 		}
-		for v := range p.nodes {
+		for v := range p.Nodes {
 			if got := c.Reaches(u, v); got != slices.Contains(row, v) {
-				t.Fatalf("of %v: Reaches %d, %d: %v", p.counts, u, v, got)
+				t.Fatalf("of %v: Reaches %d, %d: %v", p.Counts, u, v, got)
 			}
-			if got := c.Arcs(u, v); got != p.counts[[2]int{u, v}] {
-				t.Fatalf("of %v: Arcs %d, %d: %d", p.counts, u, v, got)
+			if got := c.Arcs(u, v); got != p.Counts[[2]int{u, v}] {
+				t.Fatalf("of %v: Arcs %d, %d: %d", p.Counts, u, v, got)
 			}
 		}
 	}
 	wantLast(t, c, p)
-	for _, odd := range append(oddNodes(), p.nodes) {
+	for _, odd := range append(sample.OddNodes(), p.Nodes) {
 		wantNone(t, c, odd)
 	}
 }
@@ -118,7 +65,7 @@ func want(t *testing.T, c *closure.Closure, p *plain) {
 func wantLast(t *testing.T, c *closure.Closure, p *plain) {
 	t.Helper()
 	if got := c.Last(); !slices.Equal(got, p.last) {
-		t.Fatalf("of %v: Last: %v, want %v", p.counts, got, p.last)
+		t.Fatalf("of %v: Last: %v, want %v", p.Counts, got, p.last)
 	}
 }
 
@@ -138,9 +85,9 @@ func wantNone(t *testing.T, c *closure.Closure, odd int) {
 // wantRows looks at the rows, and at the last ones that were made others.
 func wantRows(t *testing.T, c *closure.Closure, p *plain) {
 	t.Helper()
-	for u, row := range p.rows() {
+	for u, row := range p.Rows() {
 		if got := c.Row(u); !slices.Equal(got, row) {
-			t.Fatalf("of %v: Row of %d: %v, want %v", p.counts, u, got, row)
+			t.Fatalf("of %v: Row of %d: %v, want %v", p.Counts, u, got, row)
 		}
 	}
 	wantLast(t, c, p)
@@ -149,7 +96,7 @@ func wantRows(t *testing.T, c *closure.Closure, p *plain) {
 // wantAdd adds to both, and looks at the error.
 func wantAdd(t *testing.T, c *closure.Closure, p *plain, u, v int) api.Errno {
 	t.Helper()
-	why := p.add(u, v)
+	why := p.change(u, v, p.Add)
 	if got := c.Add(u, v); got != why {
 		t.Fatalf("Add of %d, %d: %d, want %d", u, v, got, why)
 	}
@@ -159,7 +106,7 @@ func wantAdd(t *testing.T, c *closure.Closure, p *plain, u, v int) api.Errno {
 // wantDrop drops of both, and looks at the error.
 func wantDrop(t *testing.T, c *closure.Closure, p *plain, u, v int) api.Errno {
 	t.Helper()
-	why := p.drop(u, v)
+	why := p.change(u, v, p.Drop)
 	if got := c.Drop(u, v); got != why {
 		t.Fatalf("Drop of %d, %d: %d, want %d", u, v, got, why)
 	}
@@ -176,14 +123,6 @@ func made(t *testing.T, nodes int, l ...[2]int) (*closure.Closure, *plain) {
 		}
 	}
 	return c, p
-}
-
-func upTo(nodes int) []int {
-	var l []int
-	for node := range nodes {
-		l = append(l, node)
-	}
-	return l
 }
 
 // The example of the chapter.
@@ -257,7 +196,7 @@ func TestRefused(t *testing.T) {
 	if l := c.Last(); !slices.Equal(l, []int{0, 1}) {
 		t.Fatalf("Last: %v", l)
 	}
-	for _, odd := range append(oddNodes(), 3) {
+	for _, odd := range append(sample.OddNodes(), 3) {
 		for _, arc := range [][2]int{{odd, 0}, {0, odd}, {odd, odd}, {1, odd}} {
 			if why := c.Add(arc[0], arc[1]); why != api.ErrRange {
 				t.Errorf("Add of %v: %d", arc, why)
@@ -355,8 +294,8 @@ func TestNil(t *testing.T) {
 	var c *closure.Closure
 	p := newPlain(0)
 	want(t, c, p)
-	for _, u := range append(oddNodes(), 0, 1, 4095) {
-		for _, v := range append(oddNodes(), 0, 1, 4095) {
+	for _, u := range append(sample.OddNodes(), 0, 1, 4095) {
+		for _, v := range append(sample.OddNodes(), 0, 1, 4095) {
 			wantAdd(t, c, p, u, v)
 			wantDrop(t, c, p, u, v)
 		}
@@ -378,7 +317,7 @@ func TestOfAny(t *testing.T) {
 		for range 150 {
 			u, v := from.Intn(nodes+1), from.Intn(nodes+1)
 			if from.Intn(30) == 0 {
-				u = oddNodes()[from.Intn(len(oddNodes()))]
+				u = sample.OddNodes()[from.Intn(len(sample.OddNodes()))]
 			}
 			if from.Intn(8) < adds {
 				told[wantAdd(t, c, p, u, v)]++
@@ -471,7 +410,7 @@ func TestManyAheadOfFew(t *testing.T) {
 				u = few + from.Intn(nodes-few)
 			}
 			switch {
-			case p.counts[[2]int{u, v}] > 0:
+			case p.Counts[[2]int{u, v}] > 0:
 				wantDrop(t, c, p, u, v)
 				turned[howMany(len(p.last), nodes)]++
 			case from.Intn(3) == 0:
@@ -551,7 +490,7 @@ func TestRingOfAllNodes(t *testing.T) {
 			t.Fatalf("Add: %d", why)
 		}
 	}
-	all := upTo(nodes)
+	all := sample.UpTo(nodes)
 	if !slices.Equal(c.Last(), all) {
 		t.Fatalf("Last: %d ones", len(c.Last()))
 	}

@@ -9,6 +9,7 @@ import (
 
 	"tenter/api"
 	"tenter/digraph"
+	"tenter/sample"
 )
 
 // What the chapter says, once more, by going through all arcs.
@@ -48,17 +49,6 @@ func compare(a, b api.Arc) int {
 	return cmp.Or(cmp.Compare(a.From, b.From), cmp.Compare(a.Kind, b.Kind), cmp.Compare(a.Label, b.Label), cmp.Compare(a.To, b.To))
 }
 
-// isOf tells whether an arc is of a mask.
-func isOf(a api.Arc, mask int) bool {
-	switch a.Kind {
-	case 1:
-		return mask&2 != 0
-	case 2:
-		return mask&4 != 0
-	}
-	return mask&8 != 0
-}
-
 // listed tells those arcs that is holds of, in order.
 func (p plain) listed(is func(a api.Arc) bool) []api.Arc {
 	var l []api.Arc
@@ -72,14 +62,14 @@ func (p plain) listed(is func(a api.Arc) bool) []api.Arc {
 }
 
 func (p plain) out(node, mask int) []api.Arc {
-	return p.listed(func(a api.Arc) bool { return a.From == node && isOf(a, mask) })
+	return p.listed(func(a api.Arc) bool { return a.From == node && sample.IsOf(a.Kind, mask) })
 }
 
 // ends tells what end tells of the arcs of the mask that is holds of, rising, each once.
 func (p plain) ends(mask int, is func(a api.Arc) bool, end func(a api.Arc) int) []int {
 	var l []int
 	for a := range p.arcs {
-		if isOf(a, mask) && is(a) {
+		if sample.IsOf(a.Kind, mask) && is(a) {
 			l = append(l, end(a))
 		}
 	}
@@ -116,23 +106,14 @@ func oddArcs() []api.Arc {
 	return l
 }
 
-// masks are those of the three kinds, and some with other bits.
-func masks() []int {
-	l := []int{-1, 1, 16, 1 | 16, 15, 30, -9, math.MinInt, math.MinInt + 2, math.MaxInt, 1 << 32, 1<<34 | 4, 1 << 62}
-	for mask := 0; mask <= 14; mask += 2 {
-		l = append(l, mask)
-	}
-	return l
-}
-
 // want looks by all calls at a digraph that is meant to be like those nodes and arcs.
 func want(t *testing.T, g *digraph.Graph, p plain) {
 	t.Helper()
 	if g.Nodes() != p.nodes || g.Len() != len(p.arcs) {
 		t.Fatalf("Nodes %d, Len %d; want %d, %d", g.Nodes(), g.Len(), p.nodes, len(p.arcs))
 	}
-	for _, mask := range masks() {
-		all := p.listed(func(a api.Arc) bool { return isOf(a, mask) })
+	for _, mask := range sample.Masks() {
+		all := p.listed(func(a api.Arc) bool { return sample.IsOf(a.Kind, mask) })
 		if got := g.Arcs(mask); !slices.Equal(got, all) {
 			t.Fatalf("Arcs of %d: %v, want %v", mask, got, all)
 		}
@@ -425,7 +406,7 @@ func TestFromBothSides(t *testing.T) {
 			g.Add(drawArc(from, nodes))
 			g.Drop(drawArc(from, nodes))
 		}
-		for _, mask := range masks() {
+		for _, mask := range sample.Masks() {
 			var all []api.Arc
 			for a := range nodes {
 				all = append(all, g.Out(a, mask)...)
@@ -462,8 +443,8 @@ func wantWhole(t *testing.T, g *digraph.Graph, sorted []api.Arc) {
 	if g.Len() != len(sorted) {
 		t.Fatalf("Len %d, want %d", g.Len(), len(sorted))
 	}
-	for _, mask := range masks() {
-		rest := slices.DeleteFunc(slices.Clone(sorted), func(a api.Arc) bool { return !isOf(a, mask) })
+	for _, mask := range sample.Masks() {
+		rest := slices.DeleteFunc(slices.Clone(sorted), func(a api.Arc) bool { return !sample.IsOf(a.Kind, mask) })
 		if got := g.Arcs(mask); !slices.Equal(got, rest) {
 			t.Fatalf("Arcs of %d: %d ones, want %d", mask, len(got), len(rest))
 		}

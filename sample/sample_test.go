@@ -2,8 +2,10 @@ package sample_test
 
 import (
 	"math/rand"
+	"slices"
 	"testing"
 
+	"tenter/api"
 	"tenter/history"
 	"tenter/sample"
 )
@@ -71,5 +73,33 @@ func TestCopyAndSpoil(t *testing.T) {
 	sample.Spoil(h)
 	if sample.Text(c) != text || ids[0] == 1 || ops[0].Key == 5 || h.Txs[0].Id == 1 || h.Orders[0].Key == 5 {
 		t.Errorf("%q; %v, %v, %q", sample.Text(c), ids, ops, sample.Text(h))
+	}
+}
+
+func TestArcsThatAreDrawnAreRight(t *testing.T) {
+	from := rand.New(rand.NewSource(3))
+	for nodes := range 9 {
+		l := sample.DrawArcs(from.Intn, nodes, 3*nodes)
+		if g := sample.Digraph(nodes, l...); g.Nodes() != nodes || g.Len() != len(l) || len(l) < nodes {
+			t.Errorf("of %d nodes: %d, %d arcs", g.Nodes(), nodes, g.Len())
+		}
+	}
+}
+
+func TestNet(t *testing.T) {
+	n := sample.NewNet(4)
+	for _, arc := range [][2]int{{0, 1}, {1, 2}, {2, 1}, {0, 1}, {3, 0}} {
+		if why := n.Add(arc[0], arc[1]); why != api.OK {
+			t.Errorf("Add of %v: %d", arc, why)
+		}
+	}
+	rows := [][]int{{1, 2}, {1, 2}, {1, 2}, {0, 1, 2}}
+	if got := n.Rows(); !slices.EqualFunc(got, rows, slices.Equal[[]int]) {
+		t.Errorf("Rows: %v", got)
+	}
+	for i, why := range []api.Errno{n.Add(4, 0), n.Drop(0, -1), n.Drop(1, 0), n.Drop(0, 1), n.Drop(0, 1), n.Drop(0, 1)} {
+		if want := []api.Errno{api.ErrRange, api.ErrRange, api.ErrNone, api.OK, api.OK, api.ErrNone}[i]; why != want {
+			t.Errorf("error %d: %d, want %d", i, why, want)
+		}
 	}
 }

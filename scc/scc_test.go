@@ -8,6 +8,7 @@ import (
 
 	"tenter/api"
 	"tenter/digraph"
+	"tenter/sample"
 	"tenter/scc"
 )
 
@@ -20,7 +21,7 @@ func reach(nodes int, l []api.Arc, mask int) [][]bool {
 		r[node] = make([]bool, nodes)
 	}
 	for _, a := range l {
-		if isOf(a, mask) {
+		if sample.IsOf(a.Kind, mask) {
 			r[a.From][a.To] = true
 		}
 	}
@@ -32,17 +33,6 @@ func reach(nodes int, l []api.Arc, mask int) [][]bool {
 		}
 	}
 	return r
-}
-
-// isOf tells whether an arc is of a mask.
-func isOf(a api.Arc, mask int) bool {
-	switch a.Kind {
-	case 1:
-		return mask&2 != 0
-	case 2:
-		return mask&4 != 0
-	}
-	return mask&8 != 0
 }
 
 // parts tells labels, components, and who goes round.
@@ -90,8 +80,8 @@ func want(t *testing.T, g *digraph.Graph, mask int, labels []int, components [][
 // wantAll looks at what is told of arcs by all masks.
 func wantAll(t *testing.T, nodes int, l ...api.Arc) {
 	t.Helper()
-	g := made(t, nodes, l...)
-	for _, mask := range masks() {
+	g := sample.Digraph(nodes, l...)
+	for _, mask := range sample.Masks() {
 		labels, components, round := parts(reach(nodes, l, mask))
 		want(t, g, mask, labels, components, round)
 	}
@@ -105,29 +95,8 @@ func wantAll(t *testing.T, nodes int, l ...api.Arc) {
 	}
 }
 
-// masks are those of the three kinds, and some with other bits.
-func masks() []int {
-	l := []int{-1, 1, 16, 1 | 16, 15, 30, -9, math.MinInt, math.MinInt + 2, math.MaxInt, 1 << 32, 1<<34 | 4, 1 << 62}
-	for mask := 0; mask <= 14; mask += 2 {
-		l = append(l, mask)
-	}
-	return l
-}
-
 func arc(from, to, kind, label int) api.Arc {
 	return api.Arc{From: from, To: to, Kind: kind, Label: label}
-}
-
-// made makes a digraph of arcs.
-func made(t *testing.T, nodes int, l ...api.Arc) *digraph.Graph {
-	t.Helper()
-	g := digraph.New(nodes)
-	for _, a := range l {
-		if why := g.Add(a); why != api.OK {
-			t.Fatalf("Add of %v: %d", a, why)
-		}
-	}
-	return g
 }
 
 // alone tells nodes each of which is a component.
@@ -139,45 +108,25 @@ func alone(nodes int) (labels []int, components [][]int) {
 	return labels, components
 }
 
-func upTo(nodes int) []int {
-	l, _ := alone(nodes)
-	return l
-}
-
-// draw draws arcs, each once.
-func draw(from *rand.Rand, nodes, count int) []api.Arc {
-	var l []api.Arc
-	if nodes == 0 {
-		return nil
-	}
-	for range count {
-		a := arc(from.Intn(nodes), from.Intn(nodes), 1+from.Intn(3), []int{0, 5, 1048575}[from.Intn(3)])
-		if !slices.Contains(l, a) {
-			l = append(l, a)
-		}
-	}
-	return l
-}
-
 // 23.1
 
 // The example of the chapter.
 func TestExample(t *testing.T) {
-	g := made(t, 3, arc(0, 1, 1, 0), arc(1, 0, 1, 0), arc(1, 2, 1, 0))
+	g := sample.Digraph(3, arc(0, 1, 1, 0), arc(1, 0, 1, 0), arc(1, 2, 1, 0))
 	want(t, g, 2, []int{0, 0, 2}, [][]int{{0, 1}, {2}}, []int{0, 1})
 }
 
 func TestWithoutArcs(t *testing.T) {
 	for _, nodes := range []int{0, 1, 2, 70, 4096} {
 		labels, components := alone(nodes)
-		for _, mask := range masks() {
+		for _, mask := range sample.Masks() {
 			want(t, digraph.New(nodes), mask, labels, components, nil)
 		}
 	}
 }
 
 func TestNil(t *testing.T) {
-	for _, mask := range masks() {
+	for _, mask := range sample.Masks() {
 		want(t, nil, mask, nil, nil, nil)
 	}
 }
@@ -186,7 +135,7 @@ func TestNil(t *testing.T) {
 func TestArcToItself(t *testing.T) {
 	l := []api.Arc{arc(0, 0, 1, 5), arc(1, 1, 2, 5), arc(1, 1, 2, 6), arc(2, 2, 3, 5), arc(0, 1, 1, 5), arc(1, 2, 1, 5), arc(2, 3, 1, 5)}
 	wantAll(t, 4, l...)
-	g := made(t, 4, l...)
+	g := sample.Digraph(4, l...)
 	labels, components := alone(4)
 	want(t, g, 14, labels, components, []int{0, 1, 2})
 	want(t, g, 2, labels, components, []int{0})
@@ -198,7 +147,7 @@ func TestArcToItself(t *testing.T) {
 func TestMasks(t *testing.T) {
 	l := []api.Arc{arc(0, 1, 1, 5), arc(1, 2, 2, 5), arc(2, 0, 3, 5), arc(2, 1, 1, 5)}
 	wantAll(t, 3, l...)
-	g := made(t, 3, l...)
+	g := sample.Digraph(3, l...)
 	labels, components := alone(3)
 	for _, mask := range []int{0, 1, 2, 4, 8, 10, 12, 16} {
 		want(t, g, mask, labels, components, nil)
@@ -230,7 +179,7 @@ func TestOfAny(t *testing.T) {
 	sizes := map[int]int{}
 	for range 1500 {
 		nodes := from.Intn(9)
-		l := draw(from, nodes, from.Intn(4*nodes+1))
+		l := sample.DrawArcs(from.Intn, nodes, from.Intn(4*nodes+1))
 		wantAll(t, nodes, l...)
 		_, components, _ := parts(reach(nodes, l, 14))
 		for _, c := range components {
@@ -249,8 +198,8 @@ func TestOfMore(t *testing.T) {
 	from := rand.New(rand.NewSource(232))
 	for range 12 {
 		nodes := 60 + from.Intn(80)
-		l := draw(from, nodes, nodes+from.Intn(nodes))
-		g := made(t, nodes, l...)
+		l := sample.DrawArcs(from.Intn, nodes, nodes+from.Intn(nodes))
+		g := sample.Digraph(nodes, l...)
 		for _, mask := range []int{2, 6, 14} {
 			labels, components, round := parts(reach(nodes, l, mask))
 			want(t, g, mask, labels, components, round)
@@ -270,12 +219,12 @@ func ring(l []int) []api.Arc {
 }
 
 func TestRingOfAllNodes(t *testing.T) {
-	up := upTo(api.MaxNodes)
+	up := sample.UpTo(api.MaxNodes)
 	down := slices.Clone(up)
 	slices.Reverse(down)
 	labels, components := alone(api.MaxNodes)
 	for _, l := range [][]int{up, down, rand.New(rand.NewSource(233)).Perm(api.MaxNodes)} {
-		g := made(t, api.MaxNodes, ring(l)...)
+		g := sample.Digraph(api.MaxNodes, ring(l)...)
 		want(t, g, 14, make([]int, api.MaxNodes), [][]int{up}, up)
 		want(t, g, 6, labels, components, nil)
 		// A ring without one of its arcs is a path.
@@ -298,13 +247,13 @@ func TestTwoRings(t *testing.T) {
 		}
 		labels = append(labels, node%2)
 	}
-	g := made(t, api.MaxNodes, append(ring(even), ring(odd)...)...)
+	g := sample.Digraph(api.MaxNodes, append(ring(even), ring(odd)...)...)
 	for i := range odd {
 		if i%3 == 0 {
 			g.Add(arc(odd[i], even[len(even)-1-i], 1, 0))
 		}
 	}
-	want(t, g, 14, labels, [][]int{even, odd}, upTo(api.MaxNodes))
+	want(t, g, 14, labels, [][]int{even, odd}, sample.UpTo(api.MaxNodes))
 }
 
 // Arcs from each node to each, or to each above it.
@@ -320,7 +269,7 @@ func TestFull(t *testing.T) {
 			g.Add(arc(a, b, kind, 7))
 		}
 	}
-	up := upTo(nodes)
+	up := sample.UpTo(nodes)
 	labels, components := alone(nodes)
 	want(t, g, 6, make([]int, nodes), [][]int{up}, up)
 	want(t, g, 2, labels, components, nil)
@@ -346,8 +295,8 @@ func TestEachNodeIsOfOneComponent(t *testing.T) {
 	from := rand.New(rand.NewSource(234))
 	for range 60 {
 		nodes := from.Intn(150)
-		g := made(t, nodes, draw(from, nodes, 2*nodes)...)
-		for _, mask := range masks() {
+		g := sample.Digraph(nodes, sample.DrawArcs(from.Intn, nodes, 2*nodes)...)
+		for _, mask := range sample.Masks() {
 			labels := scc.Labels(g, mask)
 			var all []int
 			for _, l := range scc.Components(g, mask) {
@@ -359,7 +308,7 @@ func TestEachNodeIsOfOneComponent(t *testing.T) {
 				all = append(all, l...)
 			}
 			slices.Sort(all)
-			if !slices.Equal(all, upTo(nodes)) {
+			if !slices.Equal(all, sample.UpTo(nodes)) {
 				t.Fatalf("of %d nodes, by %d: %v", nodes, mask, all)
 			}
 		}
@@ -371,8 +320,8 @@ func TestBetweenComponentsIsNoWayBack(t *testing.T) {
 	between := 0
 	for range 60 {
 		nodes := 1 + from.Intn(40)
-		l := draw(from, nodes, 2*nodes)
-		g := made(t, nodes, l...)
+		l := sample.DrawArcs(from.Intn, nodes, 2*nodes)
+		g := sample.Digraph(nodes, l...)
 		for _, mask := range []int{2, 6, 12, 14} {
 			labels, r := scc.Labels(g, mask), reach(nodes, l, mask)
 			for _, a := range g.Arcs(mask) {
@@ -397,7 +346,7 @@ func TestWithAnArcMore(t *testing.T) {
 		nodes := 1 + from.Intn(20)
 		g := digraph.New(nodes)
 		was := map[[2]int]bool{}
-		for _, a := range draw(from, nodes, 3*nodes) {
+		for _, a := range sample.DrawArcs(from.Intn, nodes, 3*nodes) {
 			g.Add(a)
 			is := mates(g, 14)
 			for pair := range was {
@@ -414,7 +363,7 @@ func TestWithAnArcMore(t *testing.T) {
 
 func TestAnswersAreNewMemory(t *testing.T) {
 	l := []api.Arc{arc(0, 1, 1, 5), arc(1, 0, 1, 5), arc(2, 3, 1, 5), arc(3, 2, 1, 5), arc(4, 4, 1, 5)}
-	g := made(t, 5, l...)
+	g := sample.Digraph(5, l...)
 	labels, components, round := parts(reach(5, l, 14))
 	for _, told := range [][]int{scc.Labels(g, 14), scc.Round(g, 14)} {
 		for i := range told {
