@@ -103,3 +103,40 @@ func TestNet(t *testing.T) {
 		}
 	}
 }
+
+func TestEdges(t *testing.T) {
+	edge := func(from, kind, key, to int) api.Edge { return api.Edge{From: from, To: to, Kind: kind, Key: key} }
+	for text, want := range map[string][]api.Edge{
+		"": nil, "7": nil, "1 ww5 2": {edge(1, 1, 5, 2)}, "1 ww5 2 rw4 1; -3 wr-6 4;7 x0 0": {edge(1, 1, 5, 2), edge(2, 3, 4, 1), edge(-3, 2, -6, 4), edge(7, 0, 0, 0)},
+	} {
+		if got := sample.Edges(text); !slices.Equal(got, want) {
+			t.Errorf("%q is read as %v", text, got)
+		}
+	}
+}
+
+func TestCompareEdges(t *testing.T) {
+	l := sample.Edges("-1 rw9 9; 1 x9 9; 1 ww4 9; 1 ww5 -2; 1 ww5 2; 1 wr4 1; 2 ww1 1")
+	for i, a := range l {
+		for k, b := range l {
+			if got := sample.CompareEdges(a, b); got != max(-1, min(1, i-k)) {
+				t.Errorf("%v and %v: %d", a, b, got)
+			}
+		}
+	}
+}
+
+func TestEdgesThatAreDrawn(t *testing.T) {
+	from := rand.New(rand.NewSource(4))
+	met := map[api.Edge]bool{}
+	for range 1000 {
+		e := sample.DrawEdge(from.Intn, []int{1, 2}, []int{3, 4}, []int{5, 6})
+		met[e] = true
+		if e.From|e.To > 3 || e.Kind != 3 && e.Kind != 4 || e.Key != 5 && e.Key != 6 {
+			t.Fatalf("%v is drawn", e)
+		}
+	}
+	if len(met) != 16 {
+		t.Errorf("%d edges are drawn", len(met))
+	}
+}
