@@ -113,30 +113,8 @@ func want(t *testing.T, l []api.Edge, mask, must int) ([]api.Edge, api.Errno) {
 	return got, why
 }
 
-// drawEdges draws edges between some ids.
-func drawEdges(r *rand.Rand, ids []int, count int) []api.Edge {
-	kinds, keys := []int{1, 2, 3}, []int{1, 2}
-	if r.Intn(4) == 0 {
-		kinds, keys = append(sample.OddNumbers(), 1, 2, 3, 1, 2, 3, 1, 2, 3), sample.OddNumbers()
-	}
-	var l []api.Edge
-	for range count {
-		l = append(l, sample.DrawEdge(r.Intn, ids, kinds, keys))
-	}
-	return l
-}
-
 // upTo tells ids, from 1 on.
 func upTo(n int) []int { return sample.UpTo(n + 1)[1:] }
-
-// ring tells edges of some ids, each to the next one, the last one to the first one; the keys are the numbers of the places.
-func ring(ids []int, kind int) []api.Edge {
-	var l []api.Edge
-	for i, id := range ids {
-		l = append(l, api.Edge{From: id, To: ids[(i+1)%len(ids)], Kind: kind, Key: i})
-	}
-	return l
-}
 
 // 27.1
 
@@ -210,7 +188,7 @@ func TestAnyEdges(t *testing.T) {
 		if r.Intn(3) == 0 {
 			ids = sample.OddNumbers()[:1+r.Intn(7)]
 		}
-		l := drawEdges(r, ids, r.Intn(3*len(ids)+1))
+		l := sample.DrawEdges(r.Intn, ids, r.Intn(3*len(ids)+1))
 		mask, must := 14, []int{0, 2, 4, 8, 6, 10, 12}[r.Intn(7)]
 		if r.Intn(4) == 0 {
 			mask, must = sample.Masks()[r.Intn(len(sample.Masks()))], sample.Masks()[r.Intn(len(sample.Masks()))]
@@ -239,7 +217,7 @@ func TestAnyRings(t *testing.T) {
 	for range 3000 {
 		n := 3 + r.Intn(6)
 		ids := r.Perm(n)
-		l := ring(ids, 1)
+		l := sample.Ring(ids, 1)
 		for range r.Intn(6) {
 			// From one that stands ahead, mostly to one that is not far behind it, so that the way round stays long.
 			at := r.Intn(n)
@@ -259,7 +237,7 @@ func TestAnyRings(t *testing.T) {
 // 27.1: ErrFull
 
 func TestIdsAreFull(t *testing.T) {
-	l := ring(upTo(4096), 1)
+	l := sample.Ring(upTo(4096), 1)
 	if got, why := cycle.Shortest(l, 2, 0); !slices.Equal(got, l) || why != api.OK {
 		t.Fatalf("of 4096 ids: %d edges, %d", len(got), why)
 	}
@@ -322,7 +300,7 @@ func TestSimple(t *testing.T) {
 	found := 0
 	for range 400 {
 		n := 5 + r.Intn(60)
-		l := drawEdges(r, upTo(n), n+r.Intn(n))
+		l := sample.DrawEdges(r.Intn, upTo(n), n+r.Intn(n))
 		mask, must := 14, []int{0, 2, 4, 8}[r.Intn(4)]
 		got, why := cycle.Shortest(l, mask, must)
 		if why != api.OK {
@@ -352,7 +330,7 @@ func TestItStays(t *testing.T) {
 	r := rand.New(rand.NewSource(274))
 	for range 300 {
 		n := 3 + r.Intn(20)
-		l := drawEdges(r, upTo(n), n+r.Intn(2*n))
+		l := sample.DrawEdges(r.Intn, upTo(n), n+r.Intn(2*n))
 		must := []int{0, 2, 4, 8}[r.Intn(4)]
 		got, why := cycle.Shortest(l, 14, must)
 		if why != api.OK {
@@ -367,7 +345,7 @@ func TestItStays(t *testing.T) {
 			}
 		}
 		for range 10 {
-			e := drawEdges(r, upTo(n), 1)[0]
+			e := sample.DrawEdges(r.Intn, upTo(n), 1)[0]
 			if more, why := cycle.Shortest(append(slices.Clone(l), e), 14, must); len(more) > len(got) || why != api.OK {
 				t.Fatalf("with %v: %s, not %s", e, walk.Text(more), walk.Text(got))
 			}
@@ -380,7 +358,7 @@ func TestOrderOfEdges(t *testing.T) {
 	r := rand.New(rand.NewSource(275))
 	for range 300 {
 		n := 3 + r.Intn(20)
-		l := drawEdges(r, upTo(n), 3*n)
+		l := sample.DrawEdges(r.Intn, upTo(n), 3*n)
 		got, why := cycle.Shortest(l, 14, 8)
 		other := append(slices.Clone(l), l[:r.Intn(len(l))]...)
 		r.Shuffle(len(other), func(i, k int) { other[i], other[k] = other[k], other[i] })
@@ -399,7 +377,7 @@ func TestRingOfAllIds(t *testing.T) {
 	for i := range ids {
 		ids[i] = 3*ids[i] - 5000
 	}
-	l := ring(ids, 1)
+	l := sample.Ring(ids, 1)
 	turned := walk.Turn(l)
 	r.Shuffle(len(l), func(i, k int) { l[i], l[k] = l[k], l[i] })
 	if got, why := cycle.Shortest(l, 14, 0); !slices.Equal(got, turned) || why != api.OK {

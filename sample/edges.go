@@ -3,6 +3,7 @@ package sample
 import (
 	"cmp"
 	"math"
+	"slices"
 	"strconv"
 	"strings"
 
@@ -49,6 +50,50 @@ func CompareEdges(a, b api.Edge) int {
 func DrawEdge(draw func(n int) int, ids, kinds, keys []int) api.Edge {
 	one := func(l []int) int { return l[draw(len(l))] }
 	return api.Edge{From: one(ids), To: one(ids), Kind: one(kinds), Key: one(keys)}
+}
+
+// DrawEdges draws edges between some ids; now and then their kinds and keys are odd, too.
+func DrawEdges(draw func(n int) int, ids []int, count int) []api.Edge {
+	kinds, keys := []int{1, 2, 3}, []int{1, 2}
+	if draw(4) == 0 {
+		kinds, keys = append(OddNumbers(), 1, 2, 3, 1, 2, 3, 1, 2, 3), OddNumbers()
+	}
+	var l []api.Edge
+	for range count {
+		l = append(l, DrawEdge(draw, ids, kinds, keys))
+	}
+	return l
+}
+
+// Ring tells edges of some ids, each to the next one, the last one to the first one; the keys are the numbers of the places.
+func Ring(ids []int, kind int) []api.Edge {
+	var l []api.Edge
+	for i, id := range ids {
+		l = append(l, api.Edge{From: id, To: ids[(i+1)%len(ids)], Kind: kind, Key: i})
+	}
+	return l
+}
+
+// Ahead has, of each id, to which ids one or more edges lead from it, one behind the other.
+func Ahead(l []api.Edge) map[int]map[int]bool {
+	next := map[int][]int{}
+	for _, e := range l {
+		next[e.From] = append(next[e.From], e.To)
+	}
+	all := map[int]map[int]bool{}
+	for id := range next {
+		met := map[int]bool{}
+		for todo := slices.Clone(next[id]); len(todo) > 0; {
+			to := todo[len(todo)-1]
+			todo = todo[:len(todo)-1]
+			if !met[to] {
+				met[to] = true
+				todo = append(todo, next[to]...)
+			}
+		}
+		all[id] = met
+	}
+	return all
 }
 
 // OddNumbers are no ids, keys or kinds; some would be, if they were cut, or a bit were shifted by them.

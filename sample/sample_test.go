@@ -1,6 +1,7 @@
 package sample_test
 
 import (
+	"maps"
 	"math/rand"
 	"slices"
 	"testing"
@@ -138,5 +139,42 @@ func TestEdgesThatAreDrawn(t *testing.T) {
 	}
 	if len(met) != 16 {
 		t.Errorf("%d edges are drawn", len(met))
+	}
+}
+
+func TestDrawEdges(t *testing.T) {
+	from := rand.New(rand.NewSource(5))
+	odd := 0
+	for range 100 {
+		l := sample.DrawEdges(from.Intn, []int{7, 8}, 9)
+		for _, e := range l {
+			if len(l) != 9 || e.From != 7 && e.From != 8 || e.To != 7 && e.To != 8 {
+				t.Fatalf("%v is drawn", l)
+			}
+			if !sample.IsOf(e.Kind, 14) {
+				odd++
+			}
+		}
+	}
+	if odd < 50 {
+		t.Errorf("%d edges of odd kinds are drawn", odd)
+	}
+}
+
+func TestRing(t *testing.T) {
+	for text, ids := range map[string][]int{"": nil, "7 wr0 7": {7}, "3 wr0 1 wr1 -2 wr2 3": {3, 1, -2}} {
+		if got := sample.Ring(ids, 2); !slices.Equal(got, sample.Edges(text)) {
+			t.Errorf("of %v: %v", ids, got)
+		}
+	}
+}
+
+func TestAhead(t *testing.T) {
+	got := sample.Ahead(sample.Edges("1 ww5 2 x5 3 rw5 2; 4 ww5 1; 5 ww5 5; 4 ww5 7"))
+	want := map[int][]int{1: {2, 3}, 2: {2, 3}, 3: {2, 3}, 4: {1, 2, 3, 7}, 5: {5}}
+	for id := range 9 {
+		if l := slices.Sorted(maps.Keys(got[id])); !slices.Equal(l, want[id]) {
+			t.Errorf("ahead of %d: %v, not %v", id, l, want[id])
+		}
 	}
 }
